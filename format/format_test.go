@@ -12,6 +12,7 @@ import (
 	"wordset/api"
 	"wordset/format"
 	"wordset/grammar"
+	"wordset/testkit"
 )
 
 const (
@@ -71,7 +72,7 @@ func wantGood(t *testing.T, f api.File) {
 	}
 	want, named := modelAuto(f)
 	a, states, symbols, e := format.Auto(f)
-	if e != api.OK || !sameAuto(a, want) || !slices.Equal(states, f.States) || !slices.Equal(symbols, named) {
+	if e != api.OK || !testkit.SameAuto(a, want) || !slices.Equal(states, f.States) || !slices.Equal(symbols, named) {
 		t.Fatalf("P4.4: Auto(%v) = %v, %q, %q, %d, want %v", f, a, states, symbols, e, want)
 	}
 	if n, k, r := format.Count(f); n != len(f.States) || k != len(named) || r != len(f.Rules) {
@@ -92,7 +93,7 @@ func TestExamples(t *testing.T) {
 		t.Errorf("P4.3: %q, %d", s, e)
 	}
 	a, states, symbols, e := format.Auto(f)
-	if e != api.OK || !sameAuto(a, api.Auto{States: 3, Symbols: 2, Start: []int{0}, Final: []int{0, 1}, Edges: []api.Edge{{From: 0, Sym: 1, To: 2}}}) || !slices.Equal(states, []string{"q", "r", "s"}) || !slices.Equal(symbols, []string{"a", "b"}) {
+	if e != api.OK || !testkit.SameAuto(a, api.Auto{States: 3, Symbols: 2, Start: []int{0}, Final: []int{0, 1}, Edges: []api.Edge{{From: 0, Sym: 1, To: 2}}}) || !slices.Equal(states, []string{"q", "r", "s"}) || !slices.Equal(symbols, []string{"a", "b"}) {
 		t.Errorf("P4.4: %v, %q, %q, %d", a, states, symbols, e)
 	}
 	for s, at := range map[string]int{"": 0, "Ops": 3, "Ops a:2": 6, " Ops": 1, "Ops;;Automat": 12, "Ops " + letters(17): 20} {
@@ -479,32 +480,11 @@ func drawnAuto(r *rand.Rand) api.Auto {
 	return a
 }
 
-// inOrder gives an automaton in order, by going through all that could be in it.
-func inOrder(a api.Auto) api.Auto {
-	b := api.Auto{States: a.States, Symbols: a.Symbols}
-	for p := range a.States {
-		if slices.Contains(a.Start, p) {
-			b.Start = append(b.Start, p)
-		}
-		if slices.Contains(a.Final, p) {
-			b.Final = append(b.Final, p)
-		}
-		for k := range a.Symbols {
-			for q := range a.States {
-				if e := (api.Edge{From: p, Sym: k, To: q}); slices.Contains(a.Edges, e) {
-					b.Edges = append(b.Edges, e)
-				}
-			}
-		}
-	}
-	return b
-}
-
 func TestFromDrawn(t *testing.T) {
 	r := rand.New(rand.NewPCG(4, 4))
 	for range 10000 {
 		a := drawnAuto(r)
-		b := inOrder(a)
+		b := testkit.InOrder(a)
 		states, symbols := numbered("q", a.States), numbered("start"[:r.IntN(6)], a.Symbols)
 		if a.States > 0 {
 			states[0] = "start"
@@ -533,40 +513,17 @@ func TestFromDrawn(t *testing.T) {
 		}
 		wantGood(t, f)
 		back, p, s, e := format.Auto(f)
-		if e != api.OK || !sameAuto(back, b) || !slices.Equal(p, states) || !slices.Equal(s, symbols) {
+		if e != api.OK || !testkit.SameAuto(back, b) || !slices.Equal(p, states) || !slices.Equal(s, symbols) {
 			t.Fatalf("P4.6: Auto(From(%v)) = %v, %q, %q, %d", a, back, p, s, e)
 		}
 	}
 }
 
-// roomy gives a list with spare room, and what looks whether list or room have been changed.
-func roomy[T comparable](list []T, other T) ([]T, func() bool) {
-	whole := append(slices.Clone(list), other, other, other, other)
-	before := slices.Clone(whole)
-	return whole[:len(list):len(whole)], func() bool { return slices.Equal(whole, before) }
-}
-
-// scribble writes over a list and all its spare room.
-func scribble[T any](list []T, other T) {
-	list = list[:cap(list)]
-	for i := range list {
-		list[i] = other
-	}
-}
-
 func scribbleFile(f api.File) {
-	scribble(f.Ops, api.Op{Name: "?"})
-	scribble(f.States, "?")
-	scribble(f.Final, "?")
-	scribble(f.Rules, api.Rule{Op: "?"})
-}
-
-func roomyFile(f api.File) (api.File, func() bool) {
-	ops, a := roomy(f.Ops, api.Op{Name: "room"})
-	states, b := roomy(f.States, "room")
-	final, c := roomy(f.Final, "room")
-	rules, d := roomy(f.Rules, api.Rule{Op: "room"})
-	return api.File{Title: f.Title, Ops: ops, States: states, Final: final, Rules: rules}, func() bool { return a() && b() && c() && d() }
+	testkit.Scribble(f.Ops, api.Op{Name: "?"})
+	testkit.Scribble(f.States, "?")
+	testkit.Scribble(f.Final, "?")
+	testkit.Scribble(f.Rules, api.Rule{Op: "?"})
 }
 
 // TestFileHandedIn: contents handed in stay as they were, and no answer shares memory with them or with another.
@@ -575,39 +532,39 @@ func TestFileHandedIn(t *testing.T) {
 	bad := clone(good)
 	bad.Final = []string{"r", "q"}
 	for _, content := range []api.File{good, bad} {
-		f, unchanged := roomyFile(content)
+		f, unchanged := testkit.RoomyFile(content)
 		format.Valid(f)
 		format.Count(f)
 		format.Print(f)
 		a, states, symbols, _ := format.Auto(f)
 		want := slices.Clone(symbols)
-		scribble(states, "?")
+		testkit.Scribble(states, "?")
 		if !slices.Equal(symbols, want) {
 			t.Errorf("P4.8: the two lists of names share memory")
 		}
-		scribble(symbols, "?")
-		scribble(a.Start, -9)
+		testkit.Scribble(symbols, "?")
+		testkit.Scribble(a.Start, -9)
 		if slices.Contains(a.Final, -9) {
 			t.Errorf("P4.8: Start and Final share memory")
 		}
-		scribble(a.Final, -8)
-		scribble(a.Edges, api.Edge{From: -9})
+		testkit.Scribble(a.Final, -8)
+		testkit.Scribble(a.Edges, api.Edge{From: -9})
 		if !unchanged() {
 			t.Errorf("P4.8: %v was changed", content)
 		}
 		b, p, s, e := format.Auto(f)
-		if again, q, u, g := format.Auto(content); !sameAuto(b, again) || !slices.Equal(p, q) || !slices.Equal(s, u) || e != g || slices.Contains(p, "?") || slices.Contains(s, "?") {
+		if again, q, u, g := format.Auto(content); !testkit.SameAuto(b, again) || !slices.Equal(p, q) || !slices.Equal(s, u) || e != g || slices.Contains(p, "?") || slices.Contains(s, "?") {
 			t.Errorf("P4.8: another answer afterwards: %v, %q, %q, %d", b, p, s, e)
 		}
 	}
 }
 
 func TestAutoHandedIn(t *testing.T) {
-	start, a := roomy([]int{2, 0, 2}, 1)
-	final, b := roomy([]int{2, 1, 2}, 0)
-	edges, c := roomy([]api.Edge{{From: 2, To: 1}, {From: 1}, {From: 2, To: 1}}, api.Edge{})
-	states, d := roomy([]string{"p", "q", "r"}, "room")
-	symbols, e := roomy([]string{"x"}, "room")
+	start, a := testkit.Roomy([]int{2, 0, 2}, 1)
+	final, b := testkit.Roomy([]int{2, 1, 2}, 0)
+	edges, c := testkit.Roomy([]api.Edge{{From: 2, To: 1}, {From: 1}, {From: 2, To: 1}}, api.Edge{})
+	states, d := testkit.Roomy([]string{"p", "q", "r"}, "room")
+	symbols, e := testkit.Roomy([]string{"x"}, "room")
 	auto := api.Auto{States: 3, Symbols: 1, Start: start, Final: final, Edges: edges}
 	want := text("Ops start:0 x:1;Automaton A;States p q r;Final States q r;Transitions;start() -> p;start() -> r;x(q) -> p;x(r) -> q;")
 	for range 2 {
@@ -615,7 +572,7 @@ func TestAutoHandedIn(t *testing.T) {
 		if s, _ := format.Print(f); s != want || err != api.OK {
 			t.Errorf("P4.5: %q, %d", s, err)
 		}
-		scribble(f.States, "?")
+		testkit.Scribble(f.States, "?")
 		if slices.Contains(f.Final, "?") {
 			t.Errorf("P4.8: States and Final share memory")
 		}
@@ -632,7 +589,7 @@ func TestParseNewMemory(t *testing.T) {
 	s := text(odd)
 	f, _ := format.Parse(s)
 	want := clone(f)
-	scribble(f.Final, "?")
+	testkit.Scribble(f.Final, "?")
 	if slices.Contains(f.States, "?") {
 		t.Errorf("P4.8: Final and States share memory")
 	}

@@ -25,10 +25,6 @@ func same(a, b api.File) bool {
 	return a.Title == b.Title && slices.Equal(a.Ops, b.Ops) && slices.Equal(a.States, b.States) && slices.Equal(a.Final, b.Final) && slices.Equal(a.Rules, b.Rules)
 }
 
-func sameAuto(a, b api.Auto) bool {
-	return a.States == b.States && a.Symbols == b.Symbols && slices.Equal(a.Start, b.Start) && slices.Equal(a.Final, b.Final) && slices.Equal(a.Edges, b.Edges)
-}
-
 // clone gives a content with lists of its own.
 func clone(f api.File) api.File {
 	return api.File{Title: f.Title, Ops: slices.Clone(f.Ops), States: slices.Clone(f.States), Final: slices.Clone(f.Final), Rules: slices.Clone(f.Rules)}

@@ -9,6 +9,7 @@ import (
 	"wordset/api"
 	"wordset/format"
 	"wordset/formats"
+	"wordset/testkit"
 )
 
 // fileA is the file A of DOC.md.
@@ -359,7 +360,7 @@ func TestFileHandedIn(t *testing.T) {
 	bad := content(t, fileA)
 	bad.Final = []string{"q", "p"}
 	for _, given := range []api.File{good, shapeless, bad} {
-		f, unchanged := roomyFile(given)
+		f, unchanged := testkit.RoomyFile(given)
 		for range 2 {
 			s, e := formats.BA(f)
 			u, v := formats.Dot(f)
@@ -390,16 +391,16 @@ func TestReadBANewMemory(t *testing.T) {
 	if slices.ContainsFunc(texts, func(name string) bool { return isPiece(name, s) }) {
 		t.Errorf("P5.10: %v holds pieces of the text handed in", f)
 	}
-	scribble(f.Final, "?")
+	testkit.Scribble(f.Final, "?")
 	if slices.Contains(f.States, "?") {
 		t.Errorf("P5.10: Final and States share memory")
 	}
-	scribble(f.States, "!")
+	testkit.Scribble(f.States, "!")
 	if slices.Contains(f.Final, "!") {
 		t.Errorf("P5.10: States and Final share memory")
 	}
-	scribble(f.Ops, api.Op{Name: "?"})
-	scribble(f.Rules, api.Rule{Op: "?"})
+	testkit.Scribble(f.Ops, api.Op{Name: "?"})
+	testkit.Scribble(f.Rules, api.Rule{Op: "?"})
 	if !same(g, want) {
 		t.Errorf("P5.10: an answer was changed by another: %v", g)
 	}

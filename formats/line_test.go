@@ -10,6 +10,7 @@ import (
 
 	"wordset/api"
 	"wordset/formats"
+	"wordset/testkit"
 )
 
 func wantLine(t *testing.T, a api.Auto, want string) {
@@ -21,7 +22,7 @@ func wantLine(t *testing.T, a api.Auto, want string) {
 
 func wantAuto(t *testing.T, s string, want api.Auto) {
 	t.Helper()
-	if a, p := formats.ReadLine(s); p != (api.Problem{}) || !sameAuto(a, want) {
+	if a, p := formats.ReadLine(s); p != (api.Problem{}) || !testkit.SameAuto(a, want) {
 		t.Errorf("P5.2: ReadLine(%.200q) = %v, %v, want %v", s, a, p, want)
 	}
 }
@@ -58,7 +59,7 @@ func TestLineExamples(t *testing.T) {
 	wantLine(t, a, line)
 	wantLine(t, api.Auto{}, "0 0;;;")
 	wantAuto(t, "0 0;;;", api.Auto{})
-	wantAuto(t, line, inOrder(a))
+	wantAuto(t, line, testkit.InOrder(a))
 	for s, at := range map[string]int{"2 1;0;1 0;": 8, "2 1;2": 4, "02": 0, "4097": 0, "2 1;0;1": 7, "1 1;;;0 0 0,0 0 0": 16} {
 		wantRefused(t, s, at)
 	}
@@ -78,7 +79,7 @@ func TestLineEdges(t *testing.T) {
 		},
 	} {
 		wantLine(t, a, want)
-		wantAuto(t, want, inOrder(a))
+		wantAuto(t, want, testkit.InOrder(a))
 	}
 	great := api.Auto{States: 4096, Symbols: 128, Start: []int{4095}, Final: []int{4095, 0}, Edges: []api.Edge{{From: 4095}, {Sym: 127, To: 4095}}}
 	wantLine(t, great, "4096 128;4095;0 4095;0 127 4095,4095 0 0")
@@ -110,10 +111,10 @@ func TestLineDrawn(t *testing.T) {
 	r := rand.New(rand.NewPCG(5, 1))
 	for i := range 5000 {
 		a := drawnAuto(r, 1+i%20, 1+i%13)
-		ordered := inOrder(a)
+		ordered := testkit.InOrder(a)
 		s := modelLine(ordered)
 		wantLine(t, a, s)
-		if b, p := formats.ReadLine(s); p != (api.Problem{}) || !sameAuto(b, ordered) {
+		if b, p := formats.ReadLine(s); p != (api.Problem{}) || !testkit.SameAuto(b, ordered) {
 			t.Fatalf("P5.6: ReadLine(Line(%v)) = %v, %v", a, b, p)
 		}
 		if modelOffset(s) >= 0 {
@@ -131,7 +132,7 @@ func TestLineTellsApart(t *testing.T) {
 		a := drawnAuto(r, 2, 2)
 		s, _ := formats.Line(a)
 		b, ok := told[s]
-		if ok && !sameAuto(inOrder(a), inOrder(b)) {
+		if ok && !testkit.SameAuto(testkit.InOrder(a), testkit.InOrder(b)) {
 			t.Fatalf("P5.6: %v and %v have the line %q", a, b, s)
 		}
 		if ok {
@@ -141,7 +142,7 @@ func TestLineTellsApart(t *testing.T) {
 	}
 	lines := map[string]string{}
 	for s, a := range told {
-		key := modelLine(inOrder(a))
+		key := modelLine(testkit.InOrder(a))
 		if other, ok := lines[key]; ok {
 			t.Fatalf("P5.6: one automaton has the lines %q and %q", s, other)
 		}
@@ -228,7 +229,7 @@ func TestReadLineChanged(t *testing.T) {
 	r := rand.New(rand.NewPCG(5, 4))
 	lines := 0
 	for range 20000 {
-		if wantAsModel(t, changed(r, modelLine(inOrder(drawnAuto(r, 12, 3))), "0123456789 ;, ;,x-\n\x00\xe9")) {
+		if wantAsModel(t, changed(r, modelLine(testkit.InOrder(drawnAuto(r, 12, 3))), "0123456789 ;, ;,x-\n\x00\xe9")) {
 			lines++
 		}
 	}
@@ -288,9 +289,9 @@ func TestReadLineLong(t *testing.T) {
 }
 
 func TestLineHandedIn(t *testing.T) {
-	start, a := roomy([]int{2, 0, 2}, 1)
-	final, b := roomy([]int{2, 1, 2}, 0)
-	edges, c := roomy([]api.Edge{{From: 2, To: 1}, {From: 1}, {From: 2, To: 1}}, api.Edge{})
+	start, a := testkit.Roomy([]int{2, 0, 2}, 1)
+	final, b := testkit.Roomy([]int{2, 1, 2}, 0)
+	edges, c := testkit.Roomy([]api.Edge{{From: 2, To: 1}, {From: 1}, {From: 2, To: 1}}, api.Edge{})
 	for _, symbols := range []int{1, 0, -1} {
 		auto := api.Auto{States: 3, Symbols: symbols, Start: start, Final: final, Edges: edges}
 		for range 2 {
@@ -309,15 +310,15 @@ func TestReadLineNewMemory(t *testing.T) {
 	const s = "3 2;0 1 2;0 1 2;0 0 0,0 1 0,2 0 1"
 	want, _ := formats.ReadLine(s)
 	a, _ := formats.ReadLine(s)
-	scribble(a.Start, -9)
+	testkit.Scribble(a.Start, -9)
 	if slices.Contains(a.Final, -9) {
 		t.Errorf("P5.10: Start and Final share memory")
 	}
-	scribble(a.Final, -8)
+	testkit.Scribble(a.Final, -8)
 	if slices.Contains(a.Start, -8) {
 		t.Errorf("P5.10: Final and Start share memory")
 	}
-	scribble(a.Edges, api.Edge{From: -9})
+	testkit.Scribble(a.Edges, api.Edge{From: -9})
 	wantAuto(t, s, want)
 	if again, e := formats.Line(want); again != s || e != api.OK {
 		t.Errorf("P5.10: an answer was changed by another: %q, %d", again, e)

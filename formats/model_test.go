@@ -34,31 +34,6 @@ func isNothing(f api.File) bool {
 	return f.Title == "" && f.Ops == nil && f.States == nil && f.Final == nil && f.Rules == nil
 }
 
-func sameAuto(a, b api.Auto) bool {
-	return a.States == b.States && a.Symbols == b.Symbols && slices.Equal(a.Start, b.Start) && slices.Equal(a.Final, b.Final) && slices.Equal(a.Edges, b.Edges)
-}
-
-// inOrder gives an automaton in order, by going through all that could be in it.
-func inOrder(a api.Auto) api.Auto {
-	b := api.Auto{States: a.States, Symbols: a.Symbols}
-	for p := range a.States {
-		if slices.Contains(a.Start, p) {
-			b.Start = append(b.Start, p)
-		}
-		if slices.Contains(a.Final, p) {
-			b.Final = append(b.Final, p)
-		}
-		for k := range a.Symbols {
-			for q := range a.States {
-				if e := (api.Edge{From: p, Sym: k, To: q}); slices.Contains(a.Edges, e) {
-					b.Edges = append(b.Edges, e)
-				}
-			}
-		}
-	}
-	return b
-}
-
 // drawnAuto draws an automaton, its lists in no order and with doubles.
 func drawnAuto(r *rand.Rand, states, symbols int) api.Auto {
 	a := api.Auto{States: r.IntN(states + 1), Symbols: r.IntN(symbols + 1)}
@@ -379,29 +354,6 @@ func changed(r *rand.Rand, s, bytes string) string {
 		}
 	}
 	return string(b)
-}
-
-// roomy gives a list with spare room, and what looks whether list or room have been changed.
-func roomy[T comparable](list []T, other T) ([]T, func() bool) {
-	whole := append(slices.Clone(list), other, other, other, other)
-	before := slices.Clone(whole)
-	return whole[:len(list):len(whole)], func() bool { return slices.Equal(whole, before) }
-}
-
-func roomyFile(f api.File) (api.File, func() bool) {
-	ops, a := roomy(f.Ops, api.Op{Name: "room"})
-	states, b := roomy(f.States, "room")
-	final, c := roomy(f.Final, "room")
-	rules, d := roomy(f.Rules, api.Rule{Op: "room"})
-	return api.File{Title: f.Title, Ops: ops, States: states, Final: final, Rules: rules}, func() bool { return a() && b() && c() && d() }
-}
-
-// scribble writes over a list and all its spare room.
-func scribble[T any](list []T, other T) {
-	list = list[:cap(list)]
-	for i := range list {
-		list[i] = other
-	}
 }
 
 // isPiece tells whether a text is a piece of another, byte for byte in its memory.

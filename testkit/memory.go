@@ -1,0 +1,51 @@
+package testkit
+
+import (
+	"slices"
+
+	"wordset/api"
+)
+
+// Roomy gives a list with spare room, and what looks whether list and room are as they were.
+func Roomy[T comparable](list []T, room T) ([]T, func() bool) {
+	whole := append(slices.Clone(list), room, room, room, room)
+	before := slices.Clone(whole)
+	return whole[:len(list):len(whole)], func() bool { return slices.Equal(whole, before) }
+}
+
+// RoomyAuto does so for an automaton's lists.
+func RoomyAuto(a api.Auto) (api.Auto, func() bool) {
+	start, same1 := Roomy(a.Start, 0)
+	final, same2 := Roomy(a.Final, 0)
+	edges, same3 := Roomy(a.Edges, api.Edge{})
+	a.Start, a.Final, a.Edges = start, final, edges
+	return a, func() bool { return same1() && same2() && same3() }
+}
+
+// RoomyFile does so for a content's lists.
+func RoomyFile(f api.File) (api.File, func() bool) {
+	ops, same1 := Roomy(f.Ops, api.Op{Name: "room"})
+	states, same2 := Roomy(f.States, "room")
+	final, same3 := Roomy(f.Final, "room")
+	rules, same4 := Roomy(f.Rules, api.Rule{Op: "room"})
+	f.Ops, f.States, f.Final, f.Rules = ops, states, final, rules
+	return f, func() bool { return same1() && same2() && same3() && same4() }
+}
+
+// Scribble writes over a list and all its spare room.
+func Scribble[T any](list []T, ink T) {
+	list = list[:cap(list)]
+	for i := range list {
+		list[i] = ink
+	}
+}
+
+// ScribbleAuto does so for an automaton's lists, and tells whether no two of them share memory.
+func ScribbleAuto(a api.Auto) bool {
+	Scribble(a.Start, -7)
+	apart := !slices.Contains(a.Final[:cap(a.Final)], -7)
+	Scribble(a.Final, -8)
+	apart = apart && !slices.Contains(a.Start[:cap(a.Start)], -8)
+	Scribble(a.Edges, api.Edge{From: -9, Sym: -9, To: -9})
+	return apart
+}
