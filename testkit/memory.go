@@ -39,13 +39,3 @@ func Scribble[T any](list []T, ink T) {
 		list[i] = ink
 	}
 }
-
-// ScribbleAuto does so for an automaton's lists, and tells whether no two of them share memory.
-func ScribbleAuto(a api.Auto) bool {
-	Scribble(a.Start, -7)
-	apart := !slices.Contains(a.Final[:cap(a.Final)], -7)
-	Scribble(a.Final, -8)
-	apart = apart && !slices.Contains(a.Start[:cap(a.Start)], -8)
-	Scribble(a.Edges, api.Edge{From: -9, Sym: -9, To: -9})
-	return apart
-}

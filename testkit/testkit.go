@@ -2,6 +2,7 @@
 package testkit
 
 import (
+	"iter"
 	"slices"
 
 	"wordset/api"
@@ -90,3 +91,52 @@ func Paths(a api.Auto, word []int) [][]int {
 
 // Takes tells whether a word has a path.
 func Takes(a api.Auto, word []int) bool { return len(Paths(a, word)) > 0 }
+
+// Every goes through all automata in order with just so many states and symbols.
+func Every(states, symbols int) iter.Seq[api.Auto] {
+	numbers, edges := Upto(states), everyEdge(states, symbols)
+	return func(yield func(api.Auto) bool) {
+		for start := range 1 << states {
+			for final := range 1 << states {
+				for among := range 1 << len(edges) {
+					a := api.Auto{States: states, Symbols: symbols, Start: chosen(numbers, start), Final: chosen(numbers, final), Edges: chosen(edges, among)}
+					if !yield(a) {
+						return
+					}
+				}
+			}
+		}
+	}
+}
+
+// Upto gives the numbers from 0 to n - 1.
+func Upto(n int) []int {
+	list := make([]int, n)
+	for i := range list {
+		list[i] = i
+	}
+	return list
+}
+
+func everyEdge(states, symbols int) []api.Edge {
+	var all []api.Edge
+	for p := range states {
+		for k := range symbols {
+			for q := range states {
+				all = append(all, api.Edge{From: p, Sym: k, To: q})
+			}
+		}
+	}
+	return all
+}
+
+// chosen gives those items of a list whose bits are set.
+func chosen[T any](list []T, bits int) []T {
+	var out []T
+	for i, item := range list {
+		if bits>>i&1 == 1 {
+			out = append(out, item)
+		}
+	}
+	return out
+}

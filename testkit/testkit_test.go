@@ -1,6 +1,7 @@
 package testkit_test
 
 import (
+	"fmt"
 	"math/rand/v2"
 	"reflect"
 	"testing"
@@ -24,6 +25,43 @@ func TestByHand(t *testing.T) {
 	}
 	if !testkit.Takes(a, nil) || !testkit.Takes(a, []int{1, 0}) || testkit.Takes(a, []int{0, 1}) {
 		t.Errorf("Takes")
+	}
+}
+
+func TestEvery(t *testing.T) {
+	seen := map[string]int{}
+	for a := range testkit.Every(2, 1) {
+		if a.States != 2 || a.Symbols != 1 || !testkit.SameAuto(a, testkit.InOrder(a)) {
+			t.Errorf("Every: %v", a)
+		}
+		seen[fmt.Sprint(a)]++
+	}
+	if len(seen) != 256 {
+		t.Errorf("Every: %d automata of 2 states and a symbol", len(seen))
+	}
+}
+
+// TestMemory: what Memory says of a call that answers the same memory again, or in two lists, or what it was handed in.
+func TestMemory(t *testing.T) {
+	kept, n := []int{1, 2}, 0
+	unchanged := func() bool { return n < 2 && kept[0] == 1 }
+	twice := []int{3, 4}
+	for want, ask := range map[string]func() testkit.Answers{
+		"": func() testkit.Answers {
+			return testkit.Answers{Lists: [][]int{{5}, {6}}, Autos: []api.Auto{{Start: []int{7}, Final: []int{8}, Edges: []api.Edge{{}}}}}
+		},
+		"two lists that were answered share memory": func() testkit.Answers {
+			return testkit.Answers{Lists: [][]int{twice[:1]}, Autos: []api.Auto{{Start: twice[1:]}}}
+		},
+		"an answer shares memory with what was handed in": func() testkit.Answers { n = 1 - n; return testkit.Answers{Lists: [][]int{kept[n : n+1 : n+1]}} },
+		"what was handed in has changed":                  func() testkit.Answers { n = 2; return testkit.Answers{} },
+		"an answer shares memory with what is kept":       func() testkit.Answers { twice[0]++; return testkit.Answers{Lists: [][]int{{twice[0]}}} },
+	} {
+		n = 0
+		if wrong := testkit.Memory(ask, unchanged); wrong != want {
+			t.Errorf("Memory: %q; it should be %q", wrong, want)
+		}
+		kept[0], kept[1] = 1, 2
 	}
 }
 

@@ -1,0 +1,113 @@
+package testkit
+
+import (
+	"slices"
+
+	"wordset/api"
+)
+
+// Answers holds what several calls answer, one behind the other.
+type Answers struct {
+	Codes  []api.Errno
+	Truths []bool
+	Lists  [][]int
+	Autos  []api.Auto
+}
+
+// Code adds the answer of a call that tells an error alone.
+func (x *Answers) Code(e api.Errno) { x.Codes = append(x.Codes, e) }
+
+// List adds the answer of a call that gives a list.
+func (x *Answers) List(l []int, e api.Errno) {
+	x.Lists = append(x.Lists, l)
+	x.Code(e)
+}
+
+// Truth adds the answer of a call that tells yes or no.
+func (x *Answers) Truth(yes bool, e api.Errno) {
+	x.Truths = append(x.Truths, yes)
+	x.Code(e)
+}
+
+// Auto adds the answer of a call that gives an automaton.
+func (x *Answers) Auto(a api.Auto, e api.Errno) {
+	x.Autos = append(x.Autos, a)
+	x.Code(e)
+}
+
+// Same compares answers; empty lists may be nil.
+func (x Answers) Same(y Answers) bool {
+	return slices.Equal(x.Codes, y.Codes) && slices.Equal(x.Truths, y.Truths) &&
+		slices.EqualFunc(x.Lists, y.Lists, slices.Equal[[]int]) && slices.EqualFunc(x.Autos, y.Autos, SameAuto)
+}
+
+// Nothing tells whether all answers but the codes are zero values.
+func (x Answers) Nothing() bool {
+	for _, l := range x.Lists {
+		if l != nil {
+			return false
+		}
+	}
+	for _, a := range x.Autos {
+		if !NoAuto(a) {
+			return false
+		}
+	}
+	return !slices.Contains(x.Truths, true)
+}
+
+func (x Answers) clone() Answers {
+	y := Answers{Codes: slices.Clone(x.Codes), Truths: slices.Clone(x.Truths)}
+	for _, l := range x.Lists {
+		y.Lists = append(y.Lists, slices.Clone(l))
+	}
+	for _, a := range x.Autos {
+		y.Autos = append(y.Autos, copyOf(a))
+	}
+	return y
+}
+
+// apart writes over all lists and their spare room, each with an ink of its own, and tells whether each still holds its own.
+func (x Answers) apart() bool {
+	lists := slices.Clone(x.Lists)
+	var edges [][]api.Edge
+	for _, a := range x.Autos {
+		lists = append(lists, a.Start, a.Final)
+		edges = append(edges, a.Edges)
+	}
+	return inked(lists, func(i int) int { return -9 - i }) && inked(edges, func(i int) api.Edge { return api.Edge{From: -9 - i} })
+}
+
+func inked[T comparable](lists [][]T, ink func(i int) T) bool {
+	for i, l := range lists {
+		Scribble(l, ink(i))
+	}
+	for i, l := range lists {
+		for _, item := range l[:cap(l)] {
+			if item != ink(i) {
+				return false
+			}
+		}
+	}
+	return true
+}
+
+// Memory asks several times, writes over what was answered, and tells what shares memory that should not; "": nothing does. What unchanged looks at is what is handed in.
+func Memory(ask func() Answers, unchanged func() bool) string {
+	x, y := ask(), ask()
+	if !unchanged() {
+		return "what was handed in has changed"
+	}
+	want := x.clone()
+	both := Answers{Lists: slices.Concat(x.Lists, y.Lists), Autos: slices.Concat(x.Autos, y.Autos)}
+	if !both.apart() {
+		return "two lists that were answered share memory"
+	}
+	if !unchanged() {
+		return "an answer shares memory with what was handed in"
+	}
+	if !ask().Same(want) {
+		return "an answer shares memory with what is kept"
+	}
+	return ""
+}
