@@ -12,6 +12,7 @@ type Answers struct {
 	Truths []bool
 	Lists  [][]int
 	Autos  []api.Auto
+	Twos   [][][2]int
 }
 
 // Code adds the answer of a call that tells an error alone.
@@ -35,10 +36,17 @@ func (x *Answers) Auto(a api.Auto, e api.Errno) {
 	x.Code(e)
 }
 
+// Pairs adds the answer of a call that gives a list of pairs.
+func (x *Answers) Pairs(l [][2]int, e api.Errno) {
+	x.Twos = append(x.Twos, l)
+	x.Code(e)
+}
+
 // Same compares answers; empty lists may be nil.
 func (x Answers) Same(y Answers) bool {
 	return slices.Equal(x.Codes, y.Codes) && slices.Equal(x.Truths, y.Truths) &&
-		slices.EqualFunc(x.Lists, y.Lists, slices.Equal[[]int]) && slices.EqualFunc(x.Autos, y.Autos, SameAuto)
+		slices.EqualFunc(x.Lists, y.Lists, slices.Equal[[]int]) && slices.EqualFunc(x.Autos, y.Autos, SameAuto) &&
+		slices.EqualFunc(x.Twos, y.Twos, slices.Equal[[][2]int])
 }
 
 // Nothing tells whether all answers but the codes are zero values.
@@ -53,6 +61,11 @@ func (x Answers) Nothing() bool {
 			return false
 		}
 	}
+	for _, l := range x.Twos {
+		if l != nil {
+			return false
+		}
+	}
 	return !slices.Contains(x.Truths, true)
 }
 
@@ -63,6 +76,9 @@ func (x Answers) clone() Answers {
 	}
 	for _, a := range x.Autos {
 		y.Autos = append(y.Autos, copyOf(a))
+	}
+	for _, l := range x.Twos {
+		y.Twos = append(y.Twos, slices.Clone(l))
 	}
 	return y
 }
@@ -75,7 +91,8 @@ func (x Answers) apart() bool {
 		lists = append(lists, a.Start, a.Final)
 		edges = append(edges, a.Edges)
 	}
-	return inked(lists, func(i int) int { return -9 - i }) && inked(edges, func(i int) api.Edge { return api.Edge{From: -9 - i} })
+	return inked(lists, func(i int) int { return -9 - i }) && inked(edges, func(i int) api.Edge { return api.Edge{From: -9 - i} }) &&
+		inked(x.Twos, func(i int) [2]int { return [2]int{-9 - i} })
 }
 
 func inked[T comparable](lists [][]T, ink func(i int) T) bool {
@@ -99,7 +116,7 @@ func Memory(ask func() Answers, unchanged func() bool) string {
 		return "what was handed in has changed"
 	}
 	want := x.clone()
-	both := Answers{Lists: slices.Concat(x.Lists, y.Lists), Autos: slices.Concat(x.Autos, y.Autos)}
+	both := Answers{Lists: slices.Concat(x.Lists, y.Lists), Autos: slices.Concat(x.Autos, y.Autos), Twos: slices.Concat(x.Twos, y.Twos)}
 	if !both.apart() {
 		return "two lists that were answered share memory"
 	}

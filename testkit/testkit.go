@@ -8,6 +8,15 @@ import (
 	"wordset/api"
 )
 
+// Auto gives an automaton; its edges are From, Sym, To one behind the other.
+func Auto(states, symbols int, start, final []int, edges ...int) api.Auto {
+	a := api.Auto{States: states, Symbols: symbols, Start: start, Final: final}
+	for e := range slices.Chunk(edges, 3) {
+		a.Edges = append(a.Edges, api.Edge{From: e[0], Sym: e[1], To: e[2]})
+	}
+	return a
+}
+
 // SameAuto compares automata field by field; empty lists may be nil.
 func SameAuto(a, b api.Auto) bool {
 	return a.States == b.States && a.Symbols == b.Symbols && slices.Equal(a.Start, b.Start) && slices.Equal(a.Final, b.Final) && slices.Equal(a.Edges, b.Edges)

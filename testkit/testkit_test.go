@@ -48,7 +48,7 @@ func TestMemory(t *testing.T) {
 	twice := []int{3, 4}
 	for want, ask := range map[string]func() testkit.Answers{
 		"": func() testkit.Answers {
-			return testkit.Answers{Lists: [][]int{{5}, {6}}, Autos: []api.Auto{{Start: []int{7}, Final: []int{8}, Edges: []api.Edge{{}}}}}
+			return testkit.Answers{Lists: [][]int{{5}, {6}}, Autos: []api.Auto{{Start: []int{7}, Final: []int{8}, Edges: []api.Edge{{}}}}, Twos: [][][2]int{{{9, 10}}}}
 		},
 		"two lists that were answered share memory": func() testkit.Answers {
 			return testkit.Answers{Lists: [][]int{twice[:1]}, Autos: []api.Auto{{Start: twice[1:]}}}
@@ -62,6 +62,20 @@ func TestMemory(t *testing.T) {
 			t.Errorf("Memory: %q; it should be %q", wrong, want)
 		}
 		kept[0], kept[1] = 1, 2
+	}
+}
+
+func TestMemoryOfPairs(t *testing.T) {
+	twice := [][2]int{{1, 2}}
+	ask := func() testkit.Answers { return testkit.Answers{Twos: [][][2]int{twice}} }
+	if wrong := testkit.Memory(ask, func() bool { return true }); wrong != "two lists that were answered share memory" {
+		t.Errorf("Memory: %q", wrong)
+	}
+	var x, y testkit.Answers
+	x.Pairs([][2]int{{1, 2}}, api.OK)
+	y.Pairs([][2]int{{1, 3}}, api.OK)
+	if x.Same(y) || !x.Same(x) || x.Nothing() {
+		t.Errorf("Pairs")
 	}
 }
 

@@ -11,11 +11,7 @@ import (
 
 // auto gives an automaton of two symbols; its edges are From, Sym, To one behind the other.
 func auto(states int, start, final []int, edges ...int) api.Auto {
-	a := api.Auto{States: states, Symbols: 2, Start: start, Final: final}
-	for e := range slices.Chunk(edges, 3) {
-		a.Edges = append(a.Edges, api.Edge{From: e[0], Sym: e[1], To: e[2]})
-	}
-	return a
+	return testkit.Auto(states, 2, start, final, edges...)
 }
 
 // ways tells for each two states the number of edges of the shortest way from one to the other, -1: none, by trying the lengths one behind the other.
