@@ -13,6 +13,9 @@ type Answers struct {
 	Lists  [][]int
 	Autos  []api.Auto
 	Twos   [][][2]int
+	Exprs  []api.Expr
+	Texts  []string
+	Places []int
 }
 
 // Code adds the answer of a call that tells an error alone.
@@ -42,14 +45,33 @@ func (x *Answers) Pairs(l [][2]int, e api.Errno) {
 	x.Code(e)
 }
 
+// Expr adds the answer of a call that gives an expression.
+func (x *Answers) Expr(e api.Expr, err api.Errno) {
+	x.Exprs = append(x.Exprs, e)
+	x.Code(err)
+}
+
+// Text adds the answer of a call that gives a text.
+func (x *Answers) Text(s string, e api.Errno) {
+	x.Texts = append(x.Texts, s)
+	x.Code(e)
+}
+
+// Read adds the answer of a call that reads an expression.
+func (x *Answers) Read(e api.Expr, p api.Problem) {
+	x.Expr(e, p.Code)
+	x.Places = append(x.Places, p.At)
+}
+
 // Same compares answers; empty lists may be nil.
 func (x Answers) Same(y Answers) bool {
 	return slices.Equal(x.Codes, y.Codes) && slices.Equal(x.Truths, y.Truths) &&
 		slices.EqualFunc(x.Lists, y.Lists, slices.Equal[[]int]) && slices.EqualFunc(x.Autos, y.Autos, SameAuto) &&
-		slices.EqualFunc(x.Twos, y.Twos, slices.Equal[[][2]int])
+		slices.EqualFunc(x.Twos, y.Twos, slices.Equal[[][2]int]) && slices.EqualFunc(x.Exprs, y.Exprs, SameExpr) &&
+		slices.Equal(x.Texts, y.Texts) && slices.Equal(x.Places, y.Places)
 }
 
-// Nothing tells whether all answers but the codes are zero values.
+// Nothing tells whether all answers but the codes, and the places at which texts are wrong, are zero values.
 func (x Answers) Nothing() bool {
 	for _, l := range x.Lists {
 		if l != nil {
@@ -66,11 +88,16 @@ func (x Answers) Nothing() bool {
 			return false
 		}
 	}
-	return !slices.Contains(x.Truths, true)
+	for _, e := range x.Exprs {
+		if e.Nodes != nil {
+			return false
+		}
+	}
+	return !slices.Contains(x.Truths, true) && !slices.ContainsFunc(x.Texts, func(s string) bool { return s != "" })
 }
 
 func (x Answers) clone() Answers {
-	y := Answers{Codes: slices.Clone(x.Codes), Truths: slices.Clone(x.Truths)}
+	y := Answers{Codes: slices.Clone(x.Codes), Truths: slices.Clone(x.Truths), Texts: slices.Clone(x.Texts), Places: slices.Clone(x.Places)}
 	for _, l := range x.Lists {
 		y.Lists = append(y.Lists, slices.Clone(l))
 	}
@@ -79,6 +106,9 @@ func (x Answers) clone() Answers {
 	}
 	for _, l := range x.Twos {
 		y.Twos = append(y.Twos, slices.Clone(l))
+	}
+	for _, e := range x.Exprs {
+		y.Exprs = append(y.Exprs, api.Expr{Nodes: slices.Clone(e.Nodes)})
 	}
 	return y
 }
@@ -91,8 +121,12 @@ func (x Answers) apart() bool {
 		lists = append(lists, a.Start, a.Final)
 		edges = append(edges, a.Edges)
 	}
+	var nodes [][]api.ExprNode
+	for _, e := range x.Exprs {
+		nodes = append(nodes, e.Nodes)
+	}
 	return inked(lists, func(i int) int { return -9 - i }) && inked(edges, func(i int) api.Edge { return api.Edge{From: -9 - i} }) &&
-		inked(x.Twos, func(i int) [2]int { return [2]int{-9 - i} })
+		inked(x.Twos, func(i int) [2]int { return [2]int{-9 - i} }) && inked(nodes, func(i int) api.ExprNode { return api.ExprNode{Size: -9 - i} })
 }
 
 func inked[T comparable](lists [][]T, ink func(i int) T) bool {
@@ -116,7 +150,7 @@ func Memory(ask func() Answers, unchanged func() bool) string {
 		return "what was handed in has changed"
 	}
 	want := x.clone()
-	both := Answers{Lists: slices.Concat(x.Lists, y.Lists), Autos: slices.Concat(x.Autos, y.Autos), Twos: slices.Concat(x.Twos, y.Twos)}
+	both := Answers{Lists: slices.Concat(x.Lists, y.Lists), Autos: slices.Concat(x.Autos, y.Autos), Twos: slices.Concat(x.Twos, y.Twos), Exprs: slices.Concat(x.Exprs, y.Exprs)}
 	if !both.apart() {
 		return "two lists that were answered share memory"
 	}

@@ -79,6 +79,61 @@ func TestMemoryOfPairs(t *testing.T) {
 	}
 }
 
+func TestExprByHand(t *testing.T) {
+	a, b := testkit.Leaf(api.XSym, 0), testkit.Leaf(api.XSym, 1)
+	e := testkit.Node(api.XStar, testkit.Node(api.XAlt, testkit.Node(api.XCat, a, b), a))
+	if want := []api.ExprNode{{Kind: api.XStar, Size: 6}, {Kind: api.XAlt, Size: 5}, {Kind: api.XCat, Size: 3}, {Kind: api.XSym, Size: 1}, {Kind: api.XSym, Sym: 1, Size: 1}, {Kind: api.XSym, Size: 1}}; !reflect.DeepEqual(e.Nodes, want) {
+		t.Errorf("Node: %v", e)
+	}
+	if kids := testkit.Kids(testkit.Kids(e)[0]); len(kids) != 2 || !testkit.SameExpr(kids[0], testkit.Node(api.XCat, a, b)) || !testkit.SameExpr(kids[1], a) {
+		t.Errorf("Kids: %v", kids)
+	}
+	for word, want := range map[string]bool{"": true, "0": true, "1": false, "01": true, "00": true, "10": false, "0010": true, "0110": false, "01001": true} {
+		var w []int
+		for _, c := range word {
+			w = append(w, int(c-'0'))
+		}
+		if testkit.Means(e, w) != want {
+			t.Errorf("Means: %q", word)
+		}
+	}
+	for e, want := range map[*api.Expr]bool{{Nodes: testkit.Leaf(api.XNone, 0).Nodes}: false, {Nodes: testkit.Leaf(api.XEmpty, 0).Nodes}: true, {Nodes: b.Nodes}: false} {
+		if testkit.Means(*e, nil) != want {
+			t.Errorf("Means: %v, the empty word", *e)
+		}
+	}
+}
+
+func TestEveryExpr(t *testing.T) {
+	seen := map[string]int{}
+	for _, e := range testkit.EveryExpr(4, 2) {
+		seen[fmt.Sprint(e)]++
+	}
+	if len(seen) != 4+4+36+100 || len(testkit.EveryExpr(4, 2)) != len(seen) {
+		t.Errorf("EveryExpr: %d expressions", len(seen))
+	}
+	if e := testkit.Long(api.XCat, 5); !testkit.SameExpr(e, testkit.Node(api.XCat, testkit.Leaf(api.XSym, 0), testkit.Node(api.XCat, testkit.Leaf(api.XSym, 0), testkit.Leaf(api.XSym, 0)))) {
+		t.Errorf("Long: %v", e)
+	}
+}
+
+func TestMemoryOfExprs(t *testing.T) {
+	twice := testkit.Leaf(api.XSym, 1)
+	ask := func() testkit.Answers { return testkit.Answers{Exprs: []api.Expr{twice}} }
+	if wrong := testkit.Memory(ask, func() bool { return true }); wrong != "two lists that were answered share memory" {
+		t.Errorf("Memory: %q", wrong)
+	}
+	var none, x, y, z testkit.Answers
+	none.Read(api.Expr{}, api.Problem{Code: api.ErrSyntax, At: 3})
+	none.Text("", api.ErrArg)
+	x.Read(testkit.Leaf(api.XSym, 1), api.Problem{})
+	y.Read(testkit.Leaf(api.XSym, 2), api.Problem{})
+	z.Text("a", api.OK)
+	if !none.Nothing() || x.Nothing() || z.Nothing() || x.Same(y) || !x.Same(x) || z.Same(none) {
+		t.Errorf("Read, Text")
+	}
+}
+
 func TestDrawn(t *testing.T) {
 	d := testkit.Draw(rand.New(rand.NewPCG(0, 1)).IntN)
 	for range 200 {
