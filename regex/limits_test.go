@@ -13,15 +13,7 @@ import (
 	"wordset/testkit"
 )
 
-// stars gives so many stars one over the other, over an expression.
-func stars(n int, e api.Expr) api.Expr {
-	var out api.Expr
-	for i := range n {
-		out.Nodes = append(out.Nodes, api.ExprNode{Kind: api.XStar, Size: n - i + len(e.Nodes)})
-	}
-	out.Nodes = append(out.Nodes, e.Nodes...)
-	return out
-}
+func stars(n int, e api.Expr) api.Expr { return testkit.Stars(n, e) }
 
 func long(kind api.ExprKind, nodes int) api.Expr { return testkit.Long(kind, nodes) }
 
@@ -119,21 +111,9 @@ func TestLargest(t *testing.T) {
 	}
 }
 
-// leaning gives an expression whose first kids are nested.
-func leaning(kind api.ExprKind, nodes int) api.Expr {
-	var e api.Expr
-	for size := nodes; size > 1; size -= 2 {
-		e.Nodes = append(e.Nodes, api.ExprNode{Kind: kind, Size: size})
-	}
-	for len(e.Nodes) < nodes {
-		e.Nodes = append(e.Nodes, api.ExprNode{Kind: api.XSym, Size: 1})
-	}
-	return e
-}
-
 func TestLeaning(t *testing.T) {
 	for _, k := range []api.ExprKind{api.XCat, api.XAlt} {
-		e := leaning(k, 1999)
+		e := testkit.Leaning(k, 1999)
 		if regex.Valid(e, 1) != api.OK {
 			t.Fatalf("P9.1: first kids nested")
 		}
@@ -284,7 +264,7 @@ func TestDeriveSizes(t *testing.T) {
 			wantExpr(t, "P9.6: Derive, as large as may be", x, code, modelSimple(raw))
 		}
 	}
-	nullable := leaning(api.XCat, 1999)
+	nullable := testkit.Leaning(api.XCat, 1999)
 	for n := range nullable.Nodes {
 		if nullable.Nodes[n].Kind == api.XSym {
 			nullable.Nodes[n].Kind = api.XEmpty
@@ -315,7 +295,7 @@ func TestLongWords(t *testing.T) {
 	}{
 		{stars(1999, a), 3000, true}, {stars(1999, a), 0, true}, {long(api.XCat, 1999), 1000, true}, {long(api.XCat, 1999), 999, false}, {long(api.XCat, 1999), 1001, false},
 		{stars(1, long(api.XCat, 1999)), 3000, true}, {stars(1, long(api.XCat, 1999)), 2999, false}, {long(api.XAlt, 1999), 1, true}, {long(api.XAlt, 1999), 2, false},
-		{leaning(api.XCat, 1999), 1000, true}, {stars(1, leaning(api.XAlt, 1999)), 300, true}, {star(a), 1 << 20, true}, {none, 1 << 20, false},
+		{testkit.Leaning(api.XCat, 1999), 1000, true}, {stars(1, testkit.Leaning(api.XAlt, 1999)), 300, true}, {star(a), 1 << 20, true}, {none, 1 << 20, false},
 	} {
 		word := make([]int, c.n)
 		if yes, code := regex.Matches(c.e, word); yes != c.want || code != api.OK {

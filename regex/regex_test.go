@@ -296,7 +296,7 @@ func TestDrawnMatch(t *testing.T) {
 	taken := 0
 	for range 3000 {
 		e := d.Expr(1+d(30), 3)
-		w := wordOf(d, e)
+		w := d.WordOf(e)
 		if d(2) == 0 {
 			w = append(w, d.List(4, d(3))...)
 		}
@@ -317,24 +317,4 @@ func TestDrawnMatch(t *testing.T) {
 	if taken < 300 {
 		t.Errorf("%d words are taken", taken)
 	}
-}
-
-// wordOf draws a word of an expression, if it has no XNone.
-func wordOf(d testkit.Draw, e api.Expr) []int {
-	kids := testkit.Kids(e)
-	switch kind(e) {
-	case api.XSym:
-		return []int{e.Nodes[0].Sym}
-	case api.XCat:
-		return append(wordOf(d, kids[0]), wordOf(d, kids[1])...)
-	case api.XAlt:
-		return wordOf(d, kids[d(2)])
-	case api.XStar:
-		var w []int
-		for range d(3) {
-			w = append(w, wordOf(d, kids[0])...)
-		}
-		return w
-	}
-	return nil
 }

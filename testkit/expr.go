@@ -139,6 +139,48 @@ func (d Draw) OddExpr() api.Expr {
 	return e
 }
 
+// WordOf draws a word of an expression, if it has no XNone.
+func (d Draw) WordOf(e api.Expr) []int {
+	kids := Kids(e)
+	switch e.Nodes[0].Kind {
+	case api.XSym:
+		return []int{e.Nodes[0].Sym}
+	case api.XCat:
+		return append(d.WordOf(kids[0]), d.WordOf(kids[1])...)
+	case api.XAlt:
+		return d.WordOf(kids[d(2)])
+	case api.XStar:
+		var w []int
+		for range d(3) {
+			w = append(w, d.WordOf(kids[0])...)
+		}
+		return w
+	}
+	return nil
+}
+
+// Stars gives so many stars one over the other, over an expression.
+func Stars(n int, e api.Expr) api.Expr {
+	var out api.Expr
+	for i := range n {
+		out.Nodes = append(out.Nodes, api.ExprNode{Kind: api.XStar, Size: n - i + len(e.Nodes)})
+	}
+	out.Nodes = append(out.Nodes, e.Nodes...)
+	return out
+}
+
+// Leaning gives an expression of so many nodes, an odd number: nodes of a kind with two kids, each over the next one and a symbol.
+func Leaning(kind api.ExprKind, nodes int) api.Expr {
+	var e api.Expr
+	for size := nodes; size > 1; size -= 2 {
+		e.Nodes = append(e.Nodes, api.ExprNode{Kind: kind, Size: size})
+	}
+	for len(e.Nodes) < nodes {
+		e.Nodes = append(e.Nodes, api.ExprNode{Kind: api.XSym, Size: 1})
+	}
+	return e
+}
+
 // Long gives an expression of so many nodes, an odd number: nodes of a kind with two kids, each over a symbol and the next one.
 func Long(kind api.ExprKind, nodes int) api.Expr {
 	var e api.Expr

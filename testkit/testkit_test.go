@@ -117,6 +117,30 @@ func TestEveryExpr(t *testing.T) {
 	}
 }
 
+// TestNested tells by hand what is nested; a word that is drawn of an expression is one of its words.
+func TestNested(t *testing.T) {
+	a, b := testkit.Leaf(api.XSym, 0), testkit.Leaf(api.XSym, 1)
+	if e := testkit.Leaning(api.XAlt, 5); !testkit.SameExpr(e, testkit.Node(api.XAlt, testkit.Node(api.XAlt, a, a), a)) {
+		t.Errorf("Leaning: %v", e)
+	}
+	if e := testkit.Stars(2, b); !testkit.SameExpr(e, testkit.Node(api.XStar, testkit.Node(api.XStar, b))) {
+		t.Errorf("Stars: %v", e)
+	}
+	d := testkit.Draw(rand.New(rand.NewPCG(0, 2)).IntN)
+	e := testkit.Node(api.XCat, testkit.Node(api.XStar, testkit.Node(api.XAlt, a, testkit.Node(api.XCat, b, a))), b)
+	seen := map[string]int{}
+	for range 100 {
+		w := d.WordOf(e)
+		seen[fmt.Sprint(w)]++
+		if !testkit.Means(e, w) {
+			t.Errorf("WordOf: %v", w)
+		}
+	}
+	if len(seen) < 4 {
+		t.Errorf("WordOf: %v", seen)
+	}
+}
+
 func TestMemoryOfExprs(t *testing.T) {
 	twice := testkit.Leaf(api.XSym, 1)
 	ask := func() testkit.Answers { return testkit.Answers{Exprs: []api.Expr{twice}} }
