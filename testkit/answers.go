@@ -16,6 +16,9 @@ type Answers struct {
 	Exprs  []api.Expr
 	Texts  []string
 	Places []int
+	Dfas   []api.Dfa
+	Groups [][][]int
+	Counts []int
 }
 
 // Code adds the answer of a call that tells an error alone.
@@ -63,13 +66,35 @@ func (x *Answers) Read(e api.Expr, p api.Problem) {
 	x.Places = append(x.Places, p.At)
 }
 
+// Dfa adds the answer of a call that gives a complete automaton.
+func (x *Answers) Dfa(d api.Dfa, e api.Errno) {
+	x.Dfas = append(x.Dfas, d)
+	x.Code(e)
+}
+
+// Group adds the answer of a call that gives a list of lists.
+func (x *Answers) Group(l [][]int, e api.Errno) {
+	x.Groups = append(x.Groups, l)
+	x.Code(e)
+}
+
+// Count adds the answer of a call that gives a number.
+func (x *Answers) Count(n int, e api.Errno) {
+	x.Counts = append(x.Counts, n)
+	x.Code(e)
+}
+
 // Same compares answers; empty lists may be nil.
 func (x Answers) Same(y Answers) bool {
 	return slices.Equal(x.Codes, y.Codes) && slices.Equal(x.Truths, y.Truths) &&
 		slices.EqualFunc(x.Lists, y.Lists, slices.Equal[[]int]) && slices.EqualFunc(x.Autos, y.Autos, SameAuto) &&
 		slices.EqualFunc(x.Twos, y.Twos, slices.Equal[[][2]int]) && slices.EqualFunc(x.Exprs, y.Exprs, SameExpr) &&
-		slices.Equal(x.Texts, y.Texts) && slices.Equal(x.Places, y.Places)
+		slices.Equal(x.Texts, y.Texts) && slices.Equal(x.Places, y.Places) &&
+		slices.EqualFunc(x.Dfas, y.Dfas, SameDfa) && slices.EqualFunc(x.Groups, y.Groups, SameGroup) && slices.Equal(x.Counts, y.Counts)
 }
+
+// SameGroup compares lists of lists; empty lists may be nil.
+func SameGroup(x, y [][]int) bool { return slices.EqualFunc(x, y, slices.Equal[[]int]) }
 
 // Nothing tells whether all answers but the codes, and the places at which texts are wrong, are zero values.
 func (x Answers) Nothing() bool {
@@ -93,11 +118,26 @@ func (x Answers) Nothing() bool {
 			return false
 		}
 	}
+	for _, d := range x.Dfas {
+		if !NoDfa(d) {
+			return false
+		}
+	}
+	for _, l := range x.Groups {
+		if l != nil {
+			return false
+		}
+	}
+	for _, n := range x.Counts {
+		if n != 0 {
+			return false
+		}
+	}
 	return !slices.Contains(x.Truths, true) && !slices.ContainsFunc(x.Texts, func(s string) bool { return s != "" })
 }
 
 func (x Answers) clone() Answers {
-	y := Answers{Codes: slices.Clone(x.Codes), Truths: slices.Clone(x.Truths), Texts: slices.Clone(x.Texts), Places: slices.Clone(x.Places)}
+	y := Answers{Codes: slices.Clone(x.Codes), Truths: slices.Clone(x.Truths), Texts: slices.Clone(x.Texts), Places: slices.Clone(x.Places), Counts: slices.Clone(x.Counts)}
 	for _, l := range x.Lists {
 		y.Lists = append(y.Lists, slices.Clone(l))
 	}
@@ -110,6 +150,16 @@ func (x Answers) clone() Answers {
 	for _, e := range x.Exprs {
 		y.Exprs = append(y.Exprs, api.Expr{Nodes: slices.Clone(e.Nodes)})
 	}
+	for _, d := range x.Dfas {
+		y.Dfas = append(y.Dfas, copyOfDfa(d))
+	}
+	for _, g := range x.Groups {
+		var copied [][]int
+		for _, l := range g {
+			copied = append(copied, slices.Clone(l))
+		}
+		y.Groups = append(y.Groups, copied)
+	}
 	return y
 }
 
@@ -121,12 +171,34 @@ func (x Answers) apart() bool {
 		lists = append(lists, a.Start, a.Final)
 		edges = append(edges, a.Edges)
 	}
+	for _, d := range x.Dfas {
+		lists = append(lists, d.Final, d.Next)
+	}
+	for _, g := range x.Groups {
+		lists = append(lists, g...)
+	}
 	var nodes [][]api.ExprNode
 	for _, e := range x.Exprs {
 		nodes = append(nodes, e.Nodes)
 	}
 	return inked(lists, func(i int) int { return -9 - i }) && inked(edges, func(i int) api.Edge { return api.Edge{From: -9 - i} }) &&
-		inked(x.Twos, func(i int) [2]int { return [2]int{-9 - i} }) && inked(nodes, func(i int) api.ExprNode { return api.ExprNode{Size: -9 - i} })
+		inked(x.Twos, func(i int) [2]int { return [2]int{-9 - i} }) && inked(nodes, func(i int) api.ExprNode { return api.ExprNode{Size: -9 - i} }) &&
+		groupsApart(x.Groups)
+}
+
+// groupsApart does so for the lists that hold lists: the ink is a list.
+func groupsApart(groups [][][]int) bool {
+	for i, g := range groups {
+		Scribble(g, []int{-9 - i})
+	}
+	for i, g := range groups {
+		for _, l := range g[:cap(g)] {
+			if l[0] != -9-i {
+				return false
+			}
+		}
+	}
+	return true
 }
 
 func inked[T comparable](lists [][]T, ink func(i int) T) bool {
@@ -150,7 +222,7 @@ func Memory(ask func() Answers, unchanged func() bool) string {
 		return "what was handed in has changed"
 	}
 	want := x.clone()
-	both := Answers{Lists: slices.Concat(x.Lists, y.Lists), Autos: slices.Concat(x.Autos, y.Autos), Twos: slices.Concat(x.Twos, y.Twos), Exprs: slices.Concat(x.Exprs, y.Exprs)}
+	both := Answers{Lists: slices.Concat(x.Lists, y.Lists), Autos: slices.Concat(x.Autos, y.Autos), Twos: slices.Concat(x.Twos, y.Twos), Exprs: slices.Concat(x.Exprs, y.Exprs), Dfas: slices.Concat(x.Dfas, y.Dfas), Groups: slices.Concat(x.Groups, y.Groups)}
 	if !both.apart() {
 		return "two lists that were answered share memory"
 	}

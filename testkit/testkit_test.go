@@ -167,3 +167,88 @@ func TestDrawn(t *testing.T) {
 		}
 	}
 }
+
+func TestDfaByHand(t *testing.T) {
+	d := testkit.Dfa(2, 2, 1, []int{1}, 0, 1, 1, 0)
+	for word, want := range map[string]int{"": 1, "0": 1, "1": 0, "10": 0, "11": 1, "0111": 0} {
+		var w []int
+		for _, c := range word {
+			w = append(w, int(c-'0'))
+		}
+		if s := testkit.Leads(d, w); s != want || testkit.TakesDfa(d, w) != (want == 1) {
+			t.Errorf("Leads: %q: %d", word, s)
+		}
+	}
+	if testkit.NoDfa(d) || !testkit.NoDfa(api.Dfa{}) || testkit.NoDfa(api.Dfa{Next: []int{}}) {
+		t.Errorf("NoDfa")
+	}
+	for _, e := range []api.Dfa{testkit.Dfa(2, 2, 1, nil, 0, 1, 1, 0), testkit.Dfa(2, 2, 0, []int{1}, 0, 1, 1, 0), testkit.Dfa(2, 2, 1, []int{1}, 0, 1, 1, 1), testkit.Dfa(3, 2, 1, []int{1}, 0, 1, 1, 0), testkit.Dfa(2, 1, 1, []int{1}, 0, 1, 1, 0)} {
+		if testkit.SameDfa(d, e) || !testkit.SameDfa(e, e) {
+			t.Errorf("SameDfa: %v", e)
+		}
+	}
+}
+
+func TestEveryDfa(t *testing.T) {
+	for _, c := range []struct{ states, symbols, want int }{{1, 0, 2}, {2, 0, 8}, {2, 1, 32}, {2, 2, 128}, {3, 1, 648}} {
+		seen := map[string]int{}
+		for d := range testkit.EveryDfa(c.states, c.symbols) {
+			seen[fmt.Sprint(d)]++
+			if d.States != c.states || d.Symbols != c.symbols || len(d.Next) != c.states*c.symbols {
+				t.Errorf("EveryDfa: %v", d)
+			}
+		}
+		if len(seen) != c.want {
+			t.Errorf("EveryDfa: %d of %d states and %d symbols", len(seen), c.states, c.symbols)
+		}
+	}
+}
+
+// TestMemoryOfDfas: lists of a complete automaton, lists in a list, and the list that holds them.
+func TestMemoryOfDfas(t *testing.T) {
+	twice, outer := []int{1, 2}, [][]int{{1}, {2}}
+	for i, ask := range []func() testkit.Answers{
+		func() testkit.Answers { return testkit.Answers{Dfas: []api.Dfa{{Final: twice}}} },
+		func() testkit.Answers { return testkit.Answers{Dfas: []api.Dfa{{Next: twice}}} },
+		func() testkit.Answers { return testkit.Answers{Groups: [][][]int{{twice[:1], twice[1:]}}} },
+		func() testkit.Answers {
+			outer[0], outer[1] = []int{1}, []int{2}
+			return testkit.Answers{Groups: [][][]int{outer}}
+		},
+	} {
+		if wrong := testkit.Memory(ask, func() bool { return true }); wrong != "two lists that were answered share memory" {
+			t.Errorf("Memory of %d: %q", i, wrong)
+		}
+	}
+	fresh := func() testkit.Answers {
+		return testkit.Answers{Dfas: []api.Dfa{{Final: []int{1}, Next: []int{2}}}, Groups: [][][]int{{{3}, {4}}}, Counts: []int{5}}
+	}
+	if wrong := testkit.Memory(fresh, func() bool { return true }); wrong != "" {
+		t.Errorf("Memory: %q", wrong)
+	}
+	for i, change := range []func(x *testkit.Answers){
+		func(x *testkit.Answers) { x.Dfa(api.Dfa{States: 1}, api.OK) },
+		func(x *testkit.Answers) { x.Group([][]int{{1}}, api.OK) },
+		func(x *testkit.Answers) { x.Count(1, api.OK) },
+	} {
+		var none, x testkit.Answers
+		none.Code(api.OK)
+		change(&x)
+		if x.Nothing() || !none.Nothing() || x.Same(none) || !x.Same(x) {
+			t.Errorf("Same, Nothing: %d", i)
+		}
+	}
+}
+
+// TestSpoiltDfa: the one that is spoilt stays as it is.
+func TestSpoiltDfa(t *testing.T) {
+	d, same := testkit.RoomyDfa(testkit.Dfa(2, 2, 1, []int{1}, 0, 1, 1, 0))
+	for _, bad := range testkit.SpoiltDfa(d) {
+		if testkit.SameDfa(bad, d) {
+			t.Errorf("SpoiltDfa: %v", bad)
+		}
+	}
+	if !same() {
+		t.Errorf("SpoiltDfa has changed %v", d)
+	}
+}
