@@ -39,15 +39,7 @@ func line(n int) api.Auto {
 }
 
 // ring is a complete automaton of n states in a ring; each symbol leads so many on.
-func ring(n int, by ...int) api.Dfa {
-	d := api.Dfa{States: n, Symbols: len(by), Final: []int{0}}
-	for s := range n {
-		for _, on := range by {
-			d.Next = append(d.Next, (s+on)%n)
-		}
-	}
-	return d
-}
+func ring(n int, by ...int) api.Dfa { return testkit.Ring(n, by...) }
 
 // nextSet gives the states to which a symbol leads from those of a list, rising.
 func nextSet(a api.Auto, set []int, k int) []int {

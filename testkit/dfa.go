@@ -50,6 +50,17 @@ func EveryDfa(states, symbols int) iter.Seq[api.Dfa] {
 	}
 }
 
+// Ring is a complete automaton of n states in a ring, the first one start and final; each symbol leads so many on.
+func Ring(n int, by ...int) api.Dfa {
+	d := api.Dfa{States: n, Symbols: len(by), Final: []int{0}}
+	for s := range n {
+		for _, on := range by {
+			d.Next = append(d.Next, (s+on)%n)
+		}
+	}
+	return d
+}
+
 // everyList gives all lists of just so many numbers below a bound.
 func everyList(bound, length int) [][]int {
 	all := Words(bound, length)

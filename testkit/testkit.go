@@ -2,6 +2,7 @@
 package testkit
 
 import (
+	"cmp"
 	"iter"
 	"slices"
 
@@ -63,6 +64,11 @@ func Words(symbols, length int) [][]int {
 		shorter = longer
 	}
 	return all
+}
+
+// LengthOrder is below 0 if the first word is the lesser one, above 0 if the second is, and 0 if they are one word.
+func LengthOrder(v, w []int) int {
+	return cmp.Or(cmp.Compare(len(v), len(w)), slices.Compare(v, w))
 }
 
 // Tracks gives all lists of states that a word leads through, the first one of Start, the last one any; the lesser list first.

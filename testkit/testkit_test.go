@@ -189,6 +189,24 @@ func TestDfaByHand(t *testing.T) {
 	}
 }
 
+func TestRing(t *testing.T) {
+	if d := testkit.Ring(3, 1, 2); !testkit.SameDfa(d, testkit.Dfa(3, 2, 0, []int{0}, 1, 2, 2, 0, 0, 1)) {
+		t.Errorf("Ring: %v", d)
+	}
+}
+
+// TestLengthOrder: Words gives words as they rise.
+func TestLengthOrder(t *testing.T) {
+	words := testkit.Words(3, 3)
+	for i, v := range words {
+		for j, w := range words {
+			if got := testkit.LengthOrder(v, w); got < 0 != (i < j) || got > 0 != (i > j) {
+				t.Errorf("LengthOrder of %v, %v: %d", v, w, got)
+			}
+		}
+	}
+}
+
 func TestEveryDfa(t *testing.T) {
 	for _, c := range []struct{ states, symbols, want int }{{1, 0, 2}, {2, 0, 8}, {2, 1, 32}, {2, 2, 128}, {3, 1, 648}} {
 		seen := map[string]int{}
