@@ -14,86 +14,31 @@ const lowest, most = -1 << 63, 1<<63 - 1
 // relation gives a relation of so many rows.
 func relation(rows ...[]int) api.Matrix { return api.Matrix{N: len(rows), Rows: rows} }
 
-// pairsOf gives a relation on n states that has the pairs of which has tells so.
-func pairsOf(n int, has func(p, q int) bool) api.Matrix {
-	m := api.Matrix{N: n, Rows: make([][]int, n)}
-	for p := range n {
-		for q := range n {
-			if has(p, q) {
-				m.Rows[p] = append(m.Rows[p], q)
-			}
-		}
-	}
-	return m
-}
-
 // numbered gives the relation on n states whose pairs, in order, are the bits of a number.
 func numbered(n, bits int) api.Matrix {
-	return pairsOf(n, func(p, q int) bool { return bits>>(p*n+q)&1 == 1 })
+	return testkit.Relation(n, func(p, q int) bool { return bits>>(p*n+q)&1 == 1 })
 }
-
-func hasPair(m api.Matrix, p, q int) bool { return slices.Contains(m.Rows[p], q) }
 
 // inside tells whether a relation has no pair that another one has not.
 func inside(m, among api.Matrix) bool {
 	for p, row := range m.Rows {
-		if slices.ContainsFunc(row, func(q int) bool { return !hasPair(among, p, q) }) {
+		if slices.ContainsFunc(row, func(q int) bool { return !testkit.HasPair(among, p, q) }) {
 			return false
 		}
 	}
 	return true
-}
-
-func sameMatrix(m, n api.Matrix) bool { return m.N == n.N && testkit.SameGroup(m.Rows, n.Rows) }
-
-// stands says what Words ask of a pair of a relation.
-func stands(a api.Auto, m api.Matrix, p, q int, back bool) bool {
-	marked := a.Final
-	if back {
-		marked = a.Start
-	}
-	if slices.Contains(marked, p) && !slices.Contains(marked, q) {
-		return false
-	}
-	for _, e := range a.Edges {
-		if near(e, back) == p && !slices.ContainsFunc(a.Edges, func(f api.Edge) bool {
-			return near(f, back) == q && f.Sym == e.Sym && hasPair(m, near(e, !back), near(f, !back))
-		}) {
-			return false
-		}
-	}
-	return true
-}
-
-func near(e api.Edge, back bool) int {
-	if back {
-		return e.To
-	}
-	return e.From
 }
 
 // modelIs says P13.3.
 func modelIs(a api.Auto, m api.Matrix, back bool) (bool, int, int) {
 	for p := range a.States {
 		for q := range a.States {
-			if hasPair(m, p, q) && !stands(a, m, p, q, back) {
+			if testkit.HasPair(m, p, q) && !testkit.Stands(a, m, p, q, back) {
 				return false, p, q
 			}
 		}
 	}
 	return true, -1, -1
-}
-
-// modelGreatest leaves out what may not stand, over and over.
-func modelGreatest(a api.Auto, back bool) api.Matrix {
-	m := pairsOf(a.States, func(p, q int) bool { return true })
-	for {
-		less := pairsOf(a.States, func(p, q int) bool { return hasPair(m, p, q) && stands(a, m, p, q, back) })
-		if sameMatrix(m, less) {
-			return m
-		}
-		m = less
-	}
 }
 
 // sideBySide is two automata in one.
@@ -113,7 +58,7 @@ func sideBySide(a, b api.Auto) api.Auto {
 
 // modelBetween says P13.2.
 func modelBetween(a, b api.Auto) [][]int {
-	m := modelGreatest(sideBySide(a, b), false)
+	m := testkit.Greatest(sideBySide(a, b), false)
 	above := make([][]int, a.States)
 	for p := range above {
 		for _, q := range m.Rows[p] {
@@ -129,7 +74,7 @@ func modelBetween(a, b api.Auto) [][]int {
 func modelClasses(m api.Matrix) []int {
 	class := make([]int, m.N)
 	for p := range class {
-		class[p] = slices.IndexFunc(testkit.Upto(m.N), func(q int) bool { return q == p || hasPair(m, p, q) && hasPair(m, q, p) })
+		class[p] = slices.IndexFunc(testkit.Upto(m.N), func(q int) bool { return q == p || testkit.HasPair(m, p, q) && testkit.HasPair(m, q, p) })
 	}
 	return class
 }
@@ -152,7 +97,7 @@ func greatest(a api.Auto, back bool) (api.Matrix, api.Errno) {
 
 func wantGreatest(t *testing.T, a api.Auto, back bool, want api.Matrix) {
 	t.Helper()
-	if m, e := greatest(a, back); e != api.OK || !sameMatrix(m, want) {
+	if m, e := greatest(a, back); e != api.OK || !testkit.SameMatrix(m, want) {
 		t.Fatalf("P13.1: the greatest one of %v, back %v: %v, %d; it should be %v", a, back, m, e, want)
 	}
 }

@@ -195,7 +195,7 @@ func TestAllTold(t *testing.T) {
 	if e != api.OK {
 		t.Fatal(e)
 	}
-	if b, e := simul.Backward(r); e != api.OK || !sameMatrix(b, m) {
+	if b, e := simul.Backward(r); e != api.OK || !testkit.SameMatrix(b, m) {
 		t.Fatalf("P13.5: Backward of a large automaton: %d", e)
 	}
 }
@@ -226,10 +226,10 @@ func mayBe(m api.Matrix) bool {
 func odd(d testkit.Draw) questions {
 	q := questions{a: d.OddAuto(), b: d.OddAuto()}
 	if d(4) > 0 {
-		q.a = drawn(d, d(6), 2)
+		q.a = d.Kin(d(6), 2)
 	}
 	if d(4) > 0 {
-		q.b = drawn(d, d(6), 2)
+		q.b = d.Kin(d(6), 2)
 	}
 	q.m = oddRelation(d, q.a.States)
 	return q
@@ -323,10 +323,10 @@ func TestMemory(t *testing.T) {
 func TestOrderMakesNoDifference(t *testing.T) {
 	d := testkit.Draw(rand.New(rand.NewPCG(13, 9)).IntN)
 	for range 1000 {
-		q := questions{a: drawn(d, d(7), 2), b: drawn(d, d(7), 2)}
+		q := questions{a: d.Kin(d(7), 2), b: d.Kin(d(7), 2)}
 		q.b.Symbols = max(q.a.Symbols, q.b.Symbols)
 		q.a.Symbols = q.b.Symbols
-		q.m = anyRelation(d, q.a.States, modelGreatest(q.a, d(2) == 0))
+		q.m = anyRelation(d, q.a.States, testkit.Greatest(q.a, d(2) == 0))
 		r := questions{a: d.Shuffled(q.a), b: d.Shuffled(q.b), m: api.Matrix{N: q.m.N}}
 		for _, row := range q.m.Rows {
 			r.m.Rows = append(r.m.Rows, mixedUp(d, row))

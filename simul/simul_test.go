@@ -61,9 +61,9 @@ func TestFans(t *testing.T) {
 	wantGreatest(t, turnedRound(a), true, want)
 	// 1 leads to three states, none of which is above 3: 5 and 6 lack its symbol, and 4 does not lead to the end by it
 	b := testkit.Auto(8, 2, nil, []int{7}, 0, 0, 3, 1, 0, 4, 1, 0, 5, 1, 0, 6, 3, 0, 7, 4, 0, 3, 5, 1, 7)
-	want = modelGreatest(b, false)
+	want = testkit.Greatest(b, false)
 	wantGreatest(t, b, false, want)
-	if hasPair(want, 0, 1) {
+	if testkit.HasPair(want, 0, 1) {
 		t.Errorf("P13.1: %v", want)
 	}
 }
@@ -74,12 +74,12 @@ func TestChains(t *testing.T) {
 		for _, rising := range []bool{false, true} {
 			a := chain(n, 2, rising)
 			at := func(p int) int { return place(n, p, rising) }
-			wantGreatest(t, a, false, pairsOf(n, func(p, q int) bool { return p == q }))
-			wantGreatest(t, a, true, pairsOf(n, func(p, q int) bool { return at(p) <= at(q) }))
+			wantGreatest(t, a, false, testkit.Relation(n, func(p, q int) bool { return p == q }))
+			wantGreatest(t, a, true, testkit.Relation(n, func(p, q int) bool { return at(p) <= at(q) }))
 			a.Final = nil
-			wantGreatest(t, a, false, pairsOf(n, func(p, q int) bool { return at(p) >= at(q) }))
+			wantGreatest(t, a, false, testkit.Relation(n, func(p, q int) bool { return at(p) >= at(q) }))
 			a.Start = []int{place(n, n/2, rising)}
-			wantGreatest(t, a, true, pairsOf(n, func(p, q int) bool {
+			wantGreatest(t, a, true, testkit.Relation(n, func(p, q int) bool {
 				return p == q || at(p) < at(q) && at(p) < n/2
 			}))
 		}
@@ -108,13 +108,13 @@ func place(n, p int, rising bool) int {
 func hold(t *testing.T, a api.Auto) {
 	t.Helper()
 	for _, back := range []bool{false, true} {
-		m := modelGreatest(a, back)
+		m := testkit.Greatest(a, back)
 		wantGreatest(t, a, back, m)
 		wantIs(t, a, m, back, true, -1, -1)
 		wantClasses(t, m, modelClasses(m))
 		for p := range m.Rows {
 			for _, q := range m.Rows[p] {
-				if !hasPair(m, p, p) || slices.ContainsFunc(m.Rows[q], func(r int) bool { return !hasPair(m, p, r) }) {
+				if !testkit.HasPair(m, p, p) || slices.ContainsFunc(m.Rows[q], func(r int) bool { return !testkit.HasPair(m, p, r) }) {
 					t.Fatalf("P13.5: the greatest one of %v: %v", a, m)
 				}
 			}
@@ -149,10 +149,10 @@ func holdRelations(t *testing.T, a api.Auto) {
 				t.Fatalf("P13.5: %v is a simulation of %v, back %v, and the greatest one is %v", r, a, back, m)
 			}
 			if yes {
-				together = pairsOf(a.States, func(p, q int) bool { return hasPair(together, p, q) || hasPair(r, p, q) })
+				together = testkit.Relation(a.States, func(p, q int) bool { return testkit.HasPair(together, p, q) || testkit.HasPair(r, p, q) })
 			}
 		}
-		if !sameMatrix(together, m) {
+		if !testkit.SameMatrix(together, m) {
 			t.Fatalf("P13.5: all simulations of %v together, back %v: %v; the greatest one: %v", a, back, together, m)
 		}
 	}
@@ -166,32 +166,14 @@ func TestEveryRelation(t *testing.T) {
 	}
 	d := testkit.Draw(rand.New(rand.NewPCG(13, 1)).IntN)
 	for range 300 {
-		holdRelations(t, drawn(d, 3, 2))
+		holdRelations(t, d.Kin(3, 2))
 	}
-}
-
-// drawn draws an automaton with so many states and at most so many symbols: of few edges or many, some of its states alike.
-func drawn(d testkit.Draw, states, symbols int) api.Auto {
-	a := api.Auto{States: states, Symbols: d(symbols + 1)}
-	a.Start, a.Final = d.List(states, d(states+1)), d.List(states, d(states+1))
-	for range d(1+d(5)*states+1) * min(a.Symbols, 1) * min(states, 1) {
-		e := api.Edge{From: d(states), Sym: d(a.Symbols), To: d(states)}
-		a.Edges = append(a.Edges, e)
-		for _, f := range a.Edges {
-			if f.From == e.To && d(3) == 0 {
-				f.From = e.From
-				a.Edges = append(a.Edges, f)
-				break
-			}
-		}
-	}
-	return a
 }
 
 func TestDrawn(t *testing.T) {
 	d := testkit.Draw(rand.New(rand.NewPCG(13, 2)).IntN)
 	for range 5000 {
-		hold(t, drawn(d, d(10), 3))
+		hold(t, d.Kin(d(10), 3))
 		hold(t, d.Auto(9, 3))
 	}
 }
@@ -200,10 +182,10 @@ func TestDrawn(t *testing.T) {
 func TestDrawnLarger(t *testing.T) {
 	d := testkit.Draw(rand.New(rand.NewPCG(13, 3)).IntN)
 	for range 60 {
-		hold(t, drawn(d, 20+d(8), 2))
-		a := drawn(d, 70, 1)
-		wantGreatest(t, a, false, modelGreatest(a, false))
-		wantGreatest(t, a, true, modelGreatest(a, true))
+		hold(t, d.Kin(20+d(8), 2))
+		a := d.Kin(70, 1)
+		wantGreatest(t, a, false, testkit.Greatest(a, false))
+		wantGreatest(t, a, true, testkit.Greatest(a, true))
 	}
 }
 
@@ -211,7 +193,7 @@ func TestDrawnLarger(t *testing.T) {
 func TestWords(t *testing.T) {
 	d := testkit.Draw(rand.New(rand.NewPCG(13, 4)).IntN)
 	for range 300 {
-		a := drawn(d, 5, 2)
+		a := d.Kin(5, 2)
 		forward, _ := simul.Forward(a)
 		backward, _ := simul.Backward(a)
 		for _, w := range testkit.Words(a.Symbols, 4) {
@@ -223,7 +205,7 @@ func TestWords(t *testing.T) {
 			}
 			for p := range a.States {
 				for q := range a.States {
-					if hasPair(forward, p, q) && takes[p] && !takes[q] || hasPair(backward, p, q) && led[p] && !led[q] {
+					if testkit.HasPair(forward, p, q) && takes[p] && !takes[q] || testkit.HasPair(backward, p, q) && led[p] && !led[q] {
 						t.Fatalf("P13.5: %v: %d, %d, the word %v", a, p, q, w)
 					}
 				}
@@ -245,7 +227,7 @@ func TestEveryTwo(t *testing.T) {
 func TestDrawnTwo(t *testing.T) {
 	d := testkit.Draw(rand.New(rand.NewPCG(13, 5)).IntN)
 	for range 2000 {
-		a, b := drawn(d, d(7), 2), drawn(d, d(7), 2)
+		a, b := d.Kin(d(7), 2), d.Kin(d(7), 2)
 		b.Symbols = max(a.Symbols, b.Symbols)
 		a.Symbols = b.Symbols
 		wantBetween(t, a, b, modelBetween(a, b))
@@ -256,8 +238,8 @@ func TestDrawnTwo(t *testing.T) {
 // anyRelation draws a relation: few pairs or many, most of them out of another one if there is one, in no order and with doubles.
 func anyRelation(d testkit.Draw, n int, out ...api.Matrix) api.Matrix {
 	often, seldom := d(5), d(40)
-	m := pairsOf(n, func(p, q int) bool {
-		if len(out) > 0 && hasPair(out[0], p, q) {
+	m := testkit.Relation(n, func(p, q int) bool {
+		if len(out) > 0 && testkit.HasPair(out[0], p, q) {
 			return d(5) >= often || d(30) > 0 && often < 3
 		}
 		return d(40) < seldom && d(20) < n
@@ -281,11 +263,11 @@ func TestDrawnRelations(t *testing.T) {
 	d := testkit.Draw(rand.New(rand.NewPCG(13, 6)).IntN)
 	told := map[bool]int{}
 	for range 3000 {
-		a := drawn(d, d(8), 2)
+		a := d.Kin(d(8), 2)
 		m := anyRelation(d, a.States)
 		wantClasses(t, m, modelClasses(m))
 		for _, back := range []bool{false, true} {
-			for _, m := range []api.Matrix{m, anyRelation(d, a.States, modelGreatest(a, back)), anyRelation(d, a.States, modelGreatest(a, !back))} {
+			for _, m := range []api.Matrix{m, anyRelation(d, a.States, testkit.Greatest(a, back)), anyRelation(d, a.States, testkit.Greatest(a, !back))} {
 				yes, p, q := modelIs(a, m, back)
 				wantIs(t, a, m, back, yes, p, q)
 				told[yes]++

@@ -1,4 +1,4 @@
-// Package testkit is for tests alone: the document's words on automata, complete ones and expressions said as plainly as can be, however slow, and automata, expressions and lists to try calls with.
+// Package testkit is for tests alone: the document's words on automata, complete ones, expressions and simulations said as plainly as can be, however slow, and automata, expressions and lists to try calls with.
 package testkit
 
 import (

@@ -4,6 +4,7 @@ import (
 	"fmt"
 	"math/rand/v2"
 	"reflect"
+	"slices"
 	"testing"
 
 	"wordset/api"
@@ -268,5 +269,50 @@ func TestSpoiltDfa(t *testing.T) {
 	}
 	if !same() {
 		t.Errorf("SpoiltDfa has changed %v", d)
+	}
+}
+
+func TestRelations(t *testing.T) {
+	m := testkit.Relation(3, func(p, q int) bool { return p < q })
+	if !testkit.SameMatrix(m, api.Matrix{N: 3, Rows: [][]int{{1, 2}, {2}, {}}}) || !testkit.HasPair(m, 0, 2) || testkit.HasPair(m, 2, 0) {
+		t.Errorf("Relation: %v", m)
+	}
+	for _, n := range []api.Matrix{{}, {N: 3}, {N: 2, Rows: m.Rows}, {N: 3, Rows: [][]int{{1, 2}, {2}, {0}}}} {
+		if testkit.SameMatrix(m, n) {
+			t.Errorf("SameMatrix: %v", n)
+		}
+	}
+}
+
+// TestGreatest: one that can do more, one that is marked, one that leads to what may not stand, either way round.
+func TestGreatest(t *testing.T) {
+	a := testkit.Auto(4, 2, []int{3}, []int{2}, 0, 0, 2, 1, 0, 2, 1, 1, 2, 3, 0, 0)
+	forward, backward := testkit.Greatest(a, false), testkit.Greatest(a, true)
+	if !testkit.SameMatrix(forward, api.Matrix{N: 4, Rows: [][]int{{0, 1}, {1}, {2}, {3}}}) || !testkit.SameMatrix(backward, api.Matrix{N: 4, Rows: [][]int{{0}, {0, 1, 2, 3}, {2}, {3}}}) {
+		t.Errorf("Greatest: %v, %v", forward, backward)
+	}
+	empty := api.Matrix{N: 4, Rows: make([][]int, 4)}
+	if testkit.Stands(a, empty, 0, 1, false) || !testkit.Stands(a, forward, 0, 1, false) || testkit.Stands(a, forward, 1, 0, false) || testkit.Stands(a, forward, 2, 3, false) || testkit.Stands(a, backward, 3, 2, true) {
+		t.Errorf("Stands")
+	}
+}
+
+func TestKin(t *testing.T) {
+	d := testkit.Draw(rand.New(rand.NewPCG(0, 2)).IntN)
+	alike := 0
+	for i := range 300 {
+		a := d.Kin(i%5, 2)
+		if a.States != i%5 || a.Symbols > 2 {
+			t.Fatalf("Kin: %v", a)
+		}
+		m := testkit.Greatest(a, false)
+		for p, row := range m.Rows {
+			if slices.ContainsFunc(row, func(q int) bool { return q != p && testkit.HasPair(m, q, p) }) {
+				alike++
+			}
+		}
+	}
+	if alike < 100 {
+		t.Errorf("Kin: %d states are like another one", alike)
 	}
 }
