@@ -41,24 +41,9 @@ func modelIs(a api.Auto, m api.Matrix, back bool) (bool, int, int) {
 	return true, -1, -1
 }
 
-// sideBySide is two automata in one.
-func sideBySide(a, b api.Auto) api.Auto {
-	u := api.Auto{States: a.States + b.States, Symbols: a.Symbols, Start: slices.Clone(a.Start), Final: slices.Clone(a.Final), Edges: slices.Clone(a.Edges)}
-	for _, p := range b.Start {
-		u.Start = append(u.Start, a.States+p)
-	}
-	for _, p := range b.Final {
-		u.Final = append(u.Final, a.States+p)
-	}
-	for _, e := range b.Edges {
-		u.Edges = append(u.Edges, api.Edge{From: a.States + e.From, Sym: e.Sym, To: a.States + e.To})
-	}
-	return u
-}
-
 // modelBetween says P13.2.
 func modelBetween(a, b api.Auto) [][]int {
-	m := testkit.Greatest(sideBySide(a, b), false)
+	m := testkit.Greatest(testkit.SideBySide(a, b), false)
 	above := make([][]int, a.States)
 	for p := range above {
 		for _, q := range m.Rows[p] {

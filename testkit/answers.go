@@ -19,6 +19,7 @@ type Answers struct {
 	Dfas   []api.Dfa
 	Groups [][][]int
 	Counts []int
+	Takens [][]api.Taken
 }
 
 // Code adds the answer of a call that tells an error alone.
@@ -84,17 +85,38 @@ func (x *Answers) Count(n int, e api.Errno) {
 	x.Code(e)
 }
 
+// Taken adds the answer of a call that gives a list of pairs that were kept.
+func (x *Answers) Taken(l []api.Taken, e api.Errno) {
+	x.Takens = append(x.Takens, l)
+	x.Code(e)
+}
+
+// Found adds the answer of a call that gives what a search found.
+func (x *Answers) Found(f api.Found, e api.Errno) {
+	x.Truths = append(x.Truths, f.Yes, f.Has)
+	x.Counts = append(x.Counts, f.Side, f.Pairs)
+	x.List(f.Word, e)
+}
+
 // Same compares answers; empty lists may be nil.
 func (x Answers) Same(y Answers) bool {
 	return slices.Equal(x.Codes, y.Codes) && slices.Equal(x.Truths, y.Truths) &&
 		slices.EqualFunc(x.Lists, y.Lists, slices.Equal[[]int]) && slices.EqualFunc(x.Autos, y.Autos, SameAuto) &&
 		slices.EqualFunc(x.Twos, y.Twos, slices.Equal[[][2]int]) && slices.EqualFunc(x.Exprs, y.Exprs, SameExpr) &&
 		slices.Equal(x.Texts, y.Texts) && slices.Equal(x.Places, y.Places) &&
-		slices.EqualFunc(x.Dfas, y.Dfas, SameDfa) && slices.EqualFunc(x.Groups, y.Groups, SameGroup) && slices.Equal(x.Counts, y.Counts)
+		slices.EqualFunc(x.Dfas, y.Dfas, SameDfa) && slices.EqualFunc(x.Groups, y.Groups, SameGroup) && slices.Equal(x.Counts, y.Counts) &&
+		slices.EqualFunc(x.Takens, y.Takens, SameTaken)
 }
 
 // SameGroup compares lists of lists; empty lists may be nil.
 func SameGroup(x, y [][]int) bool { return slices.EqualFunc(x, y, slices.Equal[[]int]) }
+
+// SameTaken compares pairs that were kept; empty sets may be nil.
+func SameTaken(x, y []api.Taken) bool {
+	return slices.EqualFunc(x, y, func(v, w api.Taken) bool {
+		return v.State == w.State && slices.Equal(v.Set, w.Set) && v.Link == w.Link
+	})
+}
 
 // Nothing tells whether all answers but the codes, and the places at which texts are wrong, are zero values.
 func (x Answers) Nothing() bool {
@@ -124,6 +146,11 @@ func (x Answers) Nothing() bool {
 		}
 	}
 	for _, l := range x.Groups {
+		if l != nil {
+			return false
+		}
+	}
+	for _, l := range x.Takens {
 		if l != nil {
 			return false
 		}
@@ -160,6 +187,13 @@ func (x Answers) clone() Answers {
 		}
 		y.Groups = append(y.Groups, copied)
 	}
+	for _, l := range x.Takens {
+		var copied []api.Taken
+		for _, v := range l {
+			copied = append(copied, api.Taken{State: v.State, Set: slices.Clone(v.Set), Link: v.Link})
+		}
+		y.Takens = append(y.Takens, copied)
+	}
 	return y
 }
 
@@ -177,13 +211,18 @@ func (x Answers) apart() bool {
 	for _, g := range x.Groups {
 		lists = append(lists, g...)
 	}
+	for _, l := range x.Takens {
+		for _, v := range l {
+			lists = append(lists, v.Set)
+		}
+	}
 	var nodes [][]api.ExprNode
 	for _, e := range x.Exprs {
 		nodes = append(nodes, e.Nodes)
 	}
 	return inked(lists, func(i int) int { return -9 - i }) && inked(edges, func(i int) api.Edge { return api.Edge{From: -9 - i} }) &&
 		inked(x.Twos, func(i int) [2]int { return [2]int{-9 - i} }) && inked(nodes, func(i int) api.ExprNode { return api.ExprNode{Size: -9 - i} }) &&
-		groupsApart(x.Groups)
+		groupsApart(x.Groups) && takensApart(x.Takens)
 }
 
 // groupsApart does so for the lists that hold lists: the ink is a list.
@@ -194,6 +233,21 @@ func groupsApart(groups [][][]int) bool {
 	for i, g := range groups {
 		for _, l := range g[:cap(g)] {
 			if l[0] != -9-i {
+				return false
+			}
+		}
+	}
+	return true
+}
+
+// takensApart does so for lists of pairs that were kept: the ink is a state.
+func takensApart(takens [][]api.Taken) bool {
+	for i, l := range takens {
+		Scribble(l, api.Taken{State: -9 - i})
+	}
+	for i, l := range takens {
+		for _, v := range l[:cap(l)] {
+			if v.State != -9-i {
 				return false
 			}
 		}
@@ -222,7 +276,7 @@ func Memory(ask func() Answers, unchanged func() bool) string {
 		return "what was handed in has changed"
 	}
 	want := x.clone()
-	both := Answers{Lists: slices.Concat(x.Lists, y.Lists), Autos: slices.Concat(x.Autos, y.Autos), Twos: slices.Concat(x.Twos, y.Twos), Exprs: slices.Concat(x.Exprs, y.Exprs), Dfas: slices.Concat(x.Dfas, y.Dfas), Groups: slices.Concat(x.Groups, y.Groups)}
+	both := Answers{Lists: slices.Concat(x.Lists, y.Lists), Autos: slices.Concat(x.Autos, y.Autos), Twos: slices.Concat(x.Twos, y.Twos), Exprs: slices.Concat(x.Exprs, y.Exprs), Dfas: slices.Concat(x.Dfas, y.Dfas), Groups: slices.Concat(x.Groups, y.Groups), Takens: slices.Concat(x.Takens, y.Takens)}
 	if !both.apart() {
 		return "two lists that were answered share memory"
 	}

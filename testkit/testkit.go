@@ -49,6 +49,22 @@ func InOrder(a api.Auto) api.Auto {
 	return b
 }
 
+// SideBySide is two automata in one: the second one's states stand behind the first one's.
+func SideBySide(a, b api.Auto) api.Auto {
+	u := copyOf(a)
+	u.States += b.States
+	for _, p := range b.Start {
+		u.Start = append(u.Start, a.States+p)
+	}
+	for _, p := range b.Final {
+		u.Final = append(u.Final, a.States+p)
+	}
+	for _, e := range b.Edges {
+		u.Edges = append(u.Edges, api.Edge{From: a.States + e.From, Sym: e.Sym, To: a.States + e.To})
+	}
+	return u
+}
+
 // Words gives all words over so many symbols, up to a length, in length order.
 func Words(symbols, length int) [][]int {
 	all := [][]int{{}}

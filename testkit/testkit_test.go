@@ -259,6 +259,60 @@ func TestMemoryOfDfas(t *testing.T) {
 	}
 }
 
+// TestMemoryOfTaken: the sets of pairs that were kept, and the list that holds the pairs.
+func TestMemoryOfTaken(t *testing.T) {
+	twice, outer := []int{1, 2}, make([]api.Taken, 1)
+	for i, ask := range []func() testkit.Answers{
+		func() testkit.Answers {
+			return testkit.Answers{Takens: [][]api.Taken{{{Set: twice[:1]}, {Set: twice[1:]}}}}
+		},
+		func() testkit.Answers { return testkit.Answers{Takens: [][]api.Taken{outer}} },
+		func() testkit.Answers {
+			return testkit.Answers{Lists: [][]int{twice}, Takens: [][]api.Taken{{{Set: twice}}}}
+		},
+	} {
+		if wrong := testkit.Memory(ask, func() bool { return true }); wrong != "two lists that were answered share memory" {
+			t.Errorf("Memory of %d: %q", i, wrong)
+		}
+	}
+	fresh := func() testkit.Answers {
+		return testkit.Answers{Lists: [][]int{{3}}, Takens: [][]api.Taken{{{State: 1, Set: []int{2}}, {Set: []int{}}}, nil}}
+	}
+	if wrong := testkit.Memory(fresh, func() bool { return true }); wrong != "" {
+		t.Errorf("Memory: %q", wrong)
+	}
+}
+
+func TestTakenAndFound(t *testing.T) {
+	pair := api.Taken{State: 1, Set: []int{2}, Link: api.Link{Parent: 3, Sym: 4}}
+	var none, x testkit.Answers
+	none.Taken(nil, api.ErrBudget)
+	none.Found(api.Found{}, api.ErrBudget)
+	x.Taken([]api.Taken{pair}, api.OK)
+	if !none.Nothing() || x.Nothing() || !x.Same(x) {
+		t.Errorf("Taken")
+	}
+	for _, other := range []api.Taken{{}, {Set: pair.Set, Link: pair.Link}, {State: 1, Link: pair.Link}, {State: 1, Set: pair.Set, Link: api.Link{Parent: 3}}} {
+		if testkit.SameTaken([]api.Taken{pair}, []api.Taken{other}) {
+			t.Errorf("SameTaken: %v", other)
+		}
+	}
+	for _, f := range []api.Found{{Yes: true}, {Has: true}, {Word: []int{}}, {Side: 1}, {Pairs: 1}} {
+		var y testkit.Answers
+		y.Found(f, api.ErrBudget)
+		if y.Nothing() {
+			t.Errorf("Found: %v", f)
+		}
+	}
+}
+
+func TestSideBySide(t *testing.T) {
+	a, b := testkit.Auto(2, 2, []int{1}, []int{0}, 0, 1, 1), testkit.Auto(1, 2, []int{0}, []int{0}, 0, 0, 0)
+	if u := testkit.SideBySide(a, b); !testkit.SameAuto(u, testkit.Auto(3, 2, []int{1, 2}, []int{0, 2}, 0, 1, 1, 2, 0, 2)) {
+		t.Errorf("SideBySide: %v", u)
+	}
+}
+
 // TestSpoiltDfa: the one that is spoilt stays as it is.
 func TestSpoiltDfa(t *testing.T) {
 	d, same := testkit.RoomyDfa(testkit.Dfa(2, 2, 1, []int{1}, 0, 1, 1, 0))
