@@ -89,7 +89,7 @@ type seen struct{ yes, no, long, searched, fewer, shrunk int }
 // hold holds both calls, with simul and without, against the models, and what comes of them.
 func (n *seen) hold(t *testing.T, a, b api.Auto) {
 	t.Helper()
-	length := shortest(a, b)
+	length := testkit.Shortest(a, b, func(first, second bool) bool { return first && !second })
 	var pairs [2]int
 	for i, simul := range []bool{false, true} {
 		m := modelOf(a, b, simul)
@@ -125,21 +125,12 @@ func holdRight(t *testing.T, a, b api.Auto, f api.Found, length int) {
 	if f.Yes != (length < 0) || f.Has == f.Yes {
 		t.Fatalf("P15.3: %v, %v: %v; the shortest word has the length %d", a, b, f, length)
 	}
-	if f.Has && (len(f.Word) != length || !takes(a, f.Word) || takes(b, f.Word)) {
+	if f.Has && (len(f.Word) != length || !testkit.Reads(a, f.Word) || testkit.Reads(b, f.Word)) {
 		t.Fatalf("P15.3: %v, %v: %v; the shortest word has the length %d", a, b, f, length)
 	}
 	if f.Has && len(f.Word) >= f.Pairs {
 		t.Fatalf("P15.5: %v, %v: %v", a, b, f)
 	}
-}
-
-// takes tells whether a word leads to a final state; it is for longer words than testkit's.
-func takes(a api.Auto, w []int) bool {
-	set := bits(a.Start)
-	for _, k := range w {
-		set = postBits(a, set, k)
-	}
-	return set&bits(a.Final) != 0
 }
 
 func holdBudgets(t *testing.T, a, b api.Auto, simul bool, kept []api.Taken, bad int) {
@@ -221,13 +212,13 @@ func TestDrawn(t *testing.T) {
 	d := testkit.Draw(rand.New(rand.NewPCG(15, 1)).IntN)
 	var n seen
 	for range 2000 {
-		a, b := unrelated(d, 6, 2)
+		a, b := d.Two(6, 2)
 		n.hold(t, a, b)
-		a, b = related(t, d, 5, 2)
+		a, b = d.Related(5, 2)
 		n.hold(t, a, b)
 		n.hold(t, b, a)
 		for range 2 {
-			a, b = hidden(d, 1+d(3), 4+d(6))
+			a, b = d.Hidden(1+d(3), 4+d(6))
 			n.hold(t, a, b)
 		}
 	}
@@ -241,11 +232,11 @@ func TestDrawnLarger(t *testing.T) {
 	d := testkit.Draw(rand.New(rand.NewPCG(15, 2)).IntN)
 	var n seen
 	for range 40 {
-		a, b := unrelated(d, 14, 4)
+		a, b := d.Two(14, 4)
 		n.hold(t, a, b)
-		a, b = related(t, d, 6, 3)
+		a, b = d.Related(6, 3)
 		n.hold(t, a, b)
-		a, b = hidden(d, 4, 12)
+		a, b = d.Hidden(4, 12)
 		n.hold(t, a, b)
 	}
 	if n.yes == 0 || n.no == 0 || n.searched == 0 {
@@ -259,7 +250,7 @@ func TestSelf(t *testing.T) {
 	for range 500 {
 		a := d.Kin(d(12), 3)
 		wantIncludes(t, a, d.Shuffled(a), true, api.Found{Yes: true})
-		if f, e := antichain.Includes(a, renumbered(d, a), false, 0); e != api.OK || !f.Yes {
+		if f, e := antichain.Includes(a, d.Renumbered(a), false, 0); e != api.OK || !f.Yes {
 			t.Fatalf("P15.3: %v in itself: %v, %d", a, f, e)
 		}
 	}

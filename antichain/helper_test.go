@@ -6,7 +6,6 @@ import (
 
 	"wordset/antichain"
 	"wordset/api"
-	"wordset/subset"
 	"wordset/testkit"
 )
 
@@ -131,59 +130,13 @@ func includes(kept []api.Taken, bad int) api.Found {
 	return f
 }
 
-func sameFound(f, g api.Found) bool {
-	return f.Yes == g.Yes && f.Has == g.Has && slices.Equal(f.Word, g.Word) && f.Side == g.Side && f.Pairs == g.Pairs
-}
-
-// bits gives a list of states as the bits of a number.
-func bits(list []int) uint {
-	var set uint
-	for _, p := range list {
-		set |= 1 << p
-	}
-	return set
-}
-
-func postBits(a api.Auto, set uint, k int) uint {
-	var next uint
-	for _, e := range a.Edges {
-		if e.Sym == k && set>>e.From&1 == 1 {
-			next |= 1 << e.To
-		}
-	}
-	return next
-}
-
-// shortest tells how many symbols the shortest words have that a takes and b does not; -1: there is none. It goes through all sets that words lead to in both.
-func shortest(a, b api.Auto) int {
-	level := [][2]uint{{bits(a.Start), bits(b.Start)}}
-	seen := map[[2]uint]int{level[0]: 0}
-	for length := 0; len(level) > 0; length++ {
-		var next [][2]uint
-		for _, x := range level {
-			if x[0]&bits(a.Final) != 0 && x[1]&bits(b.Final) == 0 {
-				return length
-			}
-			for k := range a.Symbols {
-				y := [2]uint{postBits(a, x[0], k), postBits(b, x[1], k)}
-				if _, known := seen[y]; !known {
-					seen[y] = length + 1
-					next = append(next, y)
-				}
-			}
-		}
-		level = next
-	}
-	return -1
-}
-
 func wantSearch(t *testing.T, a, b api.Auto, simul bool, budget int, want []api.Taken, bad int) {
 	t.Helper()
 	if kept, at, e := antichain.Search(a, b, simul, budget); e != api.OK || at != bad || !testkit.SameTaken(kept, want) {
 		t.Fatalf("P15.1: Search of %v, %v, simul %v, budget %d: %v, %d, %d; it should be %v, %d", a, b, simul, budget, kept, at, e, want, bad)
 	}
 	f, e := antichain.Includes(a, b, simul, budget)
-	if g := includes(want, bad); e != api.OK || !sameFound(f, g) {
+	if g := includes(want, bad); e != api.OK || !testkit.SameFound(f, g) {
 		t.Fatalf("P15.2: Includes of %v, %v, simul %v, budget %d: %v, %d; it should be %v", a, b, simul, budget, f, e, g)
 	}
 }
@@ -191,8 +144,8 @@ func wantSearch(t *testing.T, a, b api.Auto, simul bool, budget int, want []api.
 // wantIncludes is for automata that are too large for the model.
 func wantIncludes(t *testing.T, a, b api.Auto, simul bool, want api.Found) {
 	t.Helper()
-	if f, e := antichain.Includes(a, b, simul, 0); e != api.OK || !sameFound(f, want) {
-		t.Fatalf("P15.2: Includes of %d and %d states, simul %v: %.40v, %d; it should be %.40v", a.States, b.States, simul, f, e, want)
+	if f, e := antichain.Includes(a, b, simul, 0); e != api.OK || !testkit.SameFound(f, want) {
+		t.Fatalf("P15.2: Includes of %d and %d states, simul %v: yes %v, a word of %d symbols, %d pairs, %d; it should be yes %v, %d symbols, %d pairs", a.States, b.States, simul, f.Yes, len(f.Word), f.Pairs, e, want.Yes, len(want.Word), want.Pairs)
 	}
 }
 
@@ -219,82 +172,4 @@ func ask(q questions) testkit.Answers {
 	x.Count(bad, e)
 	x.Found(antichain.Includes(q.a, q.b, q.simul, q.budget))
 	return x
-}
-
-// unrelated draws two automata over as many symbols.
-func unrelated(d testkit.Draw, states, symbols int) (api.Auto, api.Auto) {
-	a, b := d.Kin(d(states+1), symbols), d.Kin(d(states+1), symbols)
-	b.Symbols = max(a.Symbols, b.Symbols)
-	a.Symbols = b.Symbols
-	return a, b
-}
-
-// renumbered gives an automaton by other numbers of its states.
-func renumbered(d testkit.Draw, a api.Auto) api.Auto {
-	to := testkit.Upto(a.States)
-	for i := range to {
-		k := i + d(len(to)-i)
-		to[i], to[k] = to[k], to[i]
-	}
-	b := api.Auto{States: a.States, Symbols: a.Symbols}
-	for _, p := range a.Start {
-		b.Start = append(b.Start, to[p])
-	}
-	for _, p := range a.Final {
-		b.Final = append(b.Final, to[p])
-	}
-	for _, e := range a.Edges {
-		b.Edges = append(b.Edges, api.Edge{From: to[e.From], Sym: e.Sym, To: to[e.To]})
-	}
-	return b
-}
-
-// related draws two automata of which the second takes all words of the first, or would, if nothing had been taken from it at the end.
-func related(t *testing.T, d testkit.Draw, states, symbols int) (api.Auto, api.Auto) {
-	t.Helper()
-	b := d.Kin(1+d(states), symbols)
-	b.Start = append(b.Start, d(b.States))
-	b.Final = append(b.Final, d.List(b.States, d(2*b.States))...)
-	a := b
-	if d(3) > 0 {
-		// what goes one way is seldom below what goes several: such a yes takes a search
-		x, _, e := subset.Make(b, 0)
-		if e != api.OK {
-			t.Fatal(e)
-		}
-		if a, e = subset.Auto(x); e != api.OK {
-			t.Fatal(e)
-		}
-	}
-	b = renumbered(d, b)
-	if d(3) == 0 && len(b.Edges) > 0 {
-		b.Edges = slices.Delete(b.Edges, 0, 1)
-	}
-	if d(4) == 0 && len(b.Final) > 0 {
-		b.Final = b.Final[1:]
-	}
-	return a, b
-}
-
-// hidden draws two automata in which most states are final, and nearly all lead on by each symbol: a word that shows a no is seldom short, and a yes takes a search.
-func hidden(d testkit.Draw, first, second int) (api.Auto, api.Auto) {
-	a, b := onward(d, first, 4), onward(d, second, 2)
-	if d(2) == 0 {
-		a.Final = d.List(first, 1+d(first))
-	}
-	b.Final = b.Final[1+d(second/2):]
-	return a, renumbered(d, b)
-}
-
-// onward draws an automaton over two symbols that begins at its last state; all are final. Of so many edges one has another one beside it.
-func onward(d testkit.Draw, states, seldom int) api.Auto {
-	a := api.Auto{States: states, Symbols: 2, Start: []int{states - 1}, Final: testkit.Upto(states)}
-	for p := range states {
-		for k := range 2 {
-			for more := d(12) > 0; more; more = d(seldom) == 0 {
-				a.Edges = append(a.Edges, api.Edge{From: p, Sym: k, To: d(states)})
-			}
-		}
-	}
-	return a
 }

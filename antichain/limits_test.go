@@ -40,19 +40,10 @@ func TestOtherSymbols(t *testing.T) {
 	wantNone(t, testkit.Auto(4096, 1, nil, nil), testkit.Auto(4096, 2, nil, nil), 0, api.ErrSymbols)
 }
 
-// crowd has as many edges as it is told, no two alike, all by one symbol; all its states are starts and final.
-func crowd(states, edges int) api.Auto {
-	a := api.Auto{States: states, Symbols: 1, Start: testkit.Upto(states), Final: testkit.Upto(states)}
-	for i := range edges {
-		a.Edges = append(a.Edges, api.Edge{From: i / states, To: i % states})
-	}
-	return a
-}
-
 // TestSizes: two automata may have together as many states and edges as one, edges that stand twice counted once. What is too much is told ahead of the search and its budget.
 func TestSizes(t *testing.T) {
 	bare := func(states int) api.Auto { return testkit.Auto(states, 1, nil, nil) }
-	full, one := crowd(256, 65536), loop()
+	full, one := testkit.Crowd(256, 65536), loop()
 	for _, c := range [][2]api.Auto{{bare(4096), bare(1)}, {bare(1), bare(4096)}, {bare(2049), bare(2048)}, {full, one}, {one, full}} {
 		for _, budget := range []int{0, 1, -1, most} {
 			wantNone(t, c[0], c[1], budget, api.ErrSize)
@@ -60,7 +51,7 @@ func TestSizes(t *testing.T) {
 	}
 	wantIncludes(t, bare(4095), bare(1), true, api.Found{Yes: true})
 	wantIncludes(t, bare(0), bare(4096), true, api.Found{Yes: true})
-	less := crowd(256, 65535)
+	less := testkit.Crowd(256, 65535)
 	for range 2 {
 		wantIncludes(t, less, one, false, api.Found{Yes: true, Pairs: 256})
 		wantIncludes(t, less, one, true, api.Found{Yes: true})
@@ -71,21 +62,12 @@ func TestSizes(t *testing.T) {
 	}
 }
 
-// chain leads from each state to the next one; it begins at the first and ends at the last.
-func chain(n int) api.Auto {
-	a := api.Auto{States: n, Symbols: 1, Start: []int{0}, Final: []int{n - 1}}
-	for p := range n - 1 {
-		a.Edges = append(a.Edges, api.Edge{From: p, To: p + 1})
-	}
-	return a
-}
-
 // TestLongChain: as many states as may be, one pair for each; the word has one symbol less.
 func TestLongChain(t *testing.T) {
 	none := testkit.Auto(0, 1, nil, nil)
 	for _, simul := range []bool{false, true} {
-		wantIncludes(t, chain(4096), none, simul, api.Found{Has: true, Word: make([]int, 4095), Side: 1, Pairs: 4096})
-		kept, bad, e := antichain.Search(chain(4096), none, simul, 4096)
+		wantIncludes(t, testkit.Chain(4096), none, simul, api.Found{Has: true, Word: make([]int, 4095), Side: 1, Pairs: 4096})
+		kept, bad, e := antichain.Search(testkit.Chain(4096), none, simul, 4096)
 		if e != api.OK || bad != 4095 || len(kept) != 4096 {
 			t.Fatalf("P15.1: Search of a long chain: %d pairs, %d, %d", len(kept), bad, e)
 		}
@@ -95,26 +77,17 @@ func TestLongChain(t *testing.T) {
 			}
 		}
 	}
-	wantNone(t, chain(4096), none, 4095, api.ErrBudget)
-	wantIncludes(t, none, chain(4096), true, api.Found{Yes: true})
-	wantIncludes(t, chain(2048), chain(2048), false, api.Found{Yes: true, Pairs: 2048})
-	wantIncludes(t, chain(2048), chain(2048), true, api.Found{Yes: true})
-}
-
-// ring leads round; it begins at 0.
-func ring(n int, final []int) api.Auto {
-	a := api.Auto{States: n, Symbols: 1, Start: []int{0}, Final: final}
-	for p := range n {
-		a.Edges = append(a.Edges, api.Edge{From: p, To: (p + 1) % n})
-	}
-	return a
+	wantNone(t, testkit.Chain(4096), none, 4095, api.ErrBudget)
+	wantIncludes(t, none, testkit.Chain(4096), true, api.Found{Yes: true})
+	wantIncludes(t, testkit.Chain(2048), testkit.Chain(2048), false, api.Found{Yes: true, Pairs: 2048})
+	wantIncludes(t, testkit.Chain(2048), testkit.Chain(2048), true, api.Found{Yes: true})
 }
 
 // TestRings: two rings whose lengths have nothing in common meet in all pairs; the last of them is bad, so the word is as long as a word can be beside so many pairs.
 func TestRings(t *testing.T) {
 	for _, n := range []int{1, 2, 3, 8, 64, 65, 66, 129} {
 		m := n + 1
-		a, b := ring(n, []int{n - 1}), ring(m, testkit.Upto(m-1))
+		a, b := testkit.Circle(n, []int{n - 1}), testkit.Circle(m, testkit.Upto(m-1))
 		for _, simul := range []bool{false, true} {
 			kept, bad, e := antichain.Search(a, b, simul, n*m)
 			if e != api.OK || bad != n*m-1 || len(kept) != n*m {
@@ -134,25 +107,16 @@ func TestRings(t *testing.T) {
 	}
 }
 
-// letter has n states and takes the words whose (n-1)-th symbol from the end is a 1.
-func letter(n int) api.Auto {
-	a := testkit.Auto(n, 2, []int{0}, []int{n - 1}, 0, 0, 0, 0, 1, 0, 0, 1, 1)
-	for p := 1; p < n-1; p++ {
-		a.Edges = append(a.Edges, api.Edge{From: p, To: p + 1}, api.Edge{From: p, Sym: 1, To: p + 1})
-	}
-	return a
-}
-
 // TestLetters: as a whole the second automaton would have 2^2047 sets; a few pairs are enough.
 func TestLetters(t *testing.T) {
-	wantIncludes(t, letter(2048), letter(2048), false, api.Found{Yes: true, Pairs: 2048})
-	wantIncludes(t, letter(2048), letter(2048), true, api.Found{Yes: true})
+	wantIncludes(t, testkit.Letter(2048), testkit.Letter(2048), false, api.Found{Yes: true, Pairs: 2048})
+	wantIncludes(t, testkit.Letter(2048), testkit.Letter(2048), true, api.Found{Yes: true})
 }
 
 // TestLettersLost: of the second automaton's states all but the first have lost their edges by the symbol 1, so that it lacks words of the first, none of them short.
 func TestLettersLost(t *testing.T) {
 	const n = 300
-	a, b := letter(n), letter(n)
+	a, b := testkit.Letter(n), testkit.Letter(n)
 	b.Edges = slices.DeleteFunc(b.Edges, func(e api.Edge) bool { return e.Sym == 1 && e.From > 0 })
 	for _, simul := range []bool{false, true} {
 		f, e := antichain.Includes(a, b, simul, 0)
@@ -222,7 +186,7 @@ func TestAllSymbols(t *testing.T) {
 
 // odd draws what may be and what may not, most of it small.
 func odd(d testkit.Draw) questions {
-	a, b := unrelated(d, 5, 2)
+	a, b := d.Two(5, 2)
 	q := questions{a, b, d(2) == 0, d.Odd()}
 	switch d(6) {
 	case 0:
@@ -273,7 +237,7 @@ func TestMemory(t *testing.T) {
 	for i := range 3000 {
 		q := odd(d)
 		if i%2 == 0 {
-			q.a, q.b = related(t, d, 5, 2)
+			q.a, q.b = d.Related(5, 2)
 		}
 		if large(q.a) || large(q.b) {
 			continue
@@ -291,7 +255,7 @@ func TestMemory(t *testing.T) {
 func TestOrderMakesNoDifference(t *testing.T) {
 	d := testkit.Draw(rand.New(rand.NewPCG(15, 6)).IntN)
 	for range 1000 {
-		a, b := related(t, d, 6, 2)
+		a, b := d.Related(6, 2)
 		for _, simul := range []bool{false, true} {
 			x := ask(questions{a, b, simul, 0})
 			if !x.Same(ask(questions{d.Shuffled(a), d.Shuffled(b), simul, 0})) || !x.Same(ask(questions{testkit.InOrder(a), testkit.InOrder(b), simul, 0})) {
