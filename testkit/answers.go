@@ -20,6 +20,7 @@ type Answers struct {
 	Groups [][][]int
 	Counts []int
 	Takens [][]api.Taken
+	Certs  []api.Cert
 }
 
 // Code adds the answer of a call that tells an error alone.
@@ -91,6 +92,12 @@ func (x *Answers) Taken(l []api.Taken, e api.Errno) {
 	x.Code(e)
 }
 
+// Cert adds the answer of a call that gives a certificate.
+func (x *Answers) Cert(c api.Cert, e api.Errno) {
+	x.Certs = append(x.Certs, c)
+	x.Code(e)
+}
+
 // Found adds the answer of a call that gives what a search found.
 func (x *Answers) Found(f api.Found, e api.Errno) {
 	x.Truths = append(x.Truths, f.Yes, f.Has)
@@ -105,7 +112,7 @@ func (x Answers) Same(y Answers) bool {
 		slices.EqualFunc(x.Twos, y.Twos, slices.Equal[[][2]int]) && slices.EqualFunc(x.Exprs, y.Exprs, SameExpr) &&
 		slices.Equal(x.Texts, y.Texts) && slices.Equal(x.Places, y.Places) &&
 		slices.EqualFunc(x.Dfas, y.Dfas, SameDfa) && slices.EqualFunc(x.Groups, y.Groups, SameGroup) && slices.Equal(x.Counts, y.Counts) &&
-		slices.EqualFunc(x.Takens, y.Takens, SameTaken)
+		slices.EqualFunc(x.Takens, y.Takens, SameTaken) && slices.EqualFunc(x.Certs, y.Certs, SameCert)
 }
 
 // SameGroup compares lists of lists; empty lists may be nil.
@@ -116,6 +123,11 @@ func SameTaken(x, y []api.Taken) bool {
 	return slices.EqualFunc(x, y, func(v, w api.Taken) bool {
 		return v.State == w.State && slices.Equal(v.Set, w.Set) && v.Link == w.Link
 	})
+}
+
+// SameCert compares certificates; empty lists may be nil.
+func SameCert(c, d api.Cert) bool {
+	return slices.EqualFunc(c.Pairs, d.Pairs, func(v, w api.Pair) bool { return v.State == w.State && slices.Equal(v.Set, w.Set) })
 }
 
 // Nothing tells whether all answers but the codes, and the places at which texts are wrong, are zero values.
@@ -152,6 +164,11 @@ func (x Answers) Nothing() bool {
 	}
 	for _, l := range x.Takens {
 		if l != nil {
+			return false
+		}
+	}
+	for _, c := range x.Certs {
+		if c.Pairs != nil {
 			return false
 		}
 	}
@@ -194,7 +211,18 @@ func (x Answers) clone() Answers {
 		}
 		y.Takens = append(y.Takens, copied)
 	}
+	for _, c := range x.Certs {
+		y.Certs = append(y.Certs, copyOfCert(c))
+	}
 	return y
+}
+
+func copyOfCert(c api.Cert) api.Cert {
+	var copied api.Cert
+	for _, v := range c.Pairs {
+		copied.Pairs = append(copied.Pairs, api.Pair{State: v.State, Set: slices.Clone(v.Set)})
+	}
+	return copied
 }
 
 // apart writes over all lists and their spare room, each with an ink of its own, and tells whether each still holds its own.
@@ -216,52 +244,35 @@ func (x Answers) apart() bool {
 			lists = append(lists, v.Set)
 		}
 	}
+	var pairs [][]api.Pair
+	for _, c := range x.Certs {
+		for _, v := range c.Pairs {
+			lists = append(lists, v.Set)
+		}
+		pairs = append(pairs, c.Pairs)
+	}
 	var nodes [][]api.ExprNode
 	for _, e := range x.Exprs {
 		nodes = append(nodes, e.Nodes)
 	}
 	return inked(lists, func(i int) int { return -9 - i }) && inked(edges, func(i int) api.Edge { return api.Edge{From: -9 - i} }) &&
 		inked(x.Twos, func(i int) [2]int { return [2]int{-9 - i} }) && inked(nodes, func(i int) api.ExprNode { return api.ExprNode{Size: -9 - i} }) &&
-		groupsApart(x.Groups) && takensApart(x.Takens)
-}
-
-// groupsApart does so for the lists that hold lists: the ink is a list.
-func groupsApart(groups [][][]int) bool {
-	for i, g := range groups {
-		Scribble(g, []int{-9 - i})
-	}
-	for i, g := range groups {
-		for _, l := range g[:cap(g)] {
-			if l[0] != -9-i {
-				return false
-			}
-		}
-	}
-	return true
-}
-
-// takensApart does so for lists of pairs that were kept: the ink is a state.
-func takensApart(takens [][]api.Taken) bool {
-	for i, l := range takens {
-		Scribble(l, api.Taken{State: -9 - i})
-	}
-	for i, l := range takens {
-		for _, v := range l[:cap(l)] {
-			if v.State != -9-i {
-				return false
-			}
-		}
-	}
-	return true
+		inkedBy(x.Groups, func(i int) []int { return []int{-9 - i} }, slices.Equal[[]int]) &&
+		inkedBy(x.Takens, func(i int) api.Taken { return api.Taken{State: -9 - i} }, func(v, w api.Taken) bool { return v.State == w.State }) &&
+		inkedBy(pairs, func(i int) api.Pair { return api.Pair{State: -9 - i} }, func(v, w api.Pair) bool { return v.State == w.State })
 }
 
 func inked[T comparable](lists [][]T, ink func(i int) T) bool {
+	return inkedBy(lists, ink, func(v, w T) bool { return v == w })
+}
+
+func inkedBy[T any](lists [][]T, ink func(i int) T, same func(v, w T) bool) bool {
 	for i, l := range lists {
 		Scribble(l, ink(i))
 	}
 	for i, l := range lists {
 		for _, item := range l[:cap(l)] {
-			if item != ink(i) {
+			if !same(item, ink(i)) {
 				return false
 			}
 		}
@@ -276,7 +287,7 @@ func Memory(ask func() Answers, unchanged func() bool) string {
 		return "what was handed in has changed"
 	}
 	want := x.clone()
-	both := Answers{Lists: slices.Concat(x.Lists, y.Lists), Autos: slices.Concat(x.Autos, y.Autos), Twos: slices.Concat(x.Twos, y.Twos), Exprs: slices.Concat(x.Exprs, y.Exprs), Dfas: slices.Concat(x.Dfas, y.Dfas), Groups: slices.Concat(x.Groups, y.Groups), Takens: slices.Concat(x.Takens, y.Takens)}
+	both := Answers{Lists: slices.Concat(x.Lists, y.Lists), Autos: slices.Concat(x.Autos, y.Autos), Twos: slices.Concat(x.Twos, y.Twos), Exprs: slices.Concat(x.Exprs, y.Exprs), Dfas: slices.Concat(x.Dfas, y.Dfas), Groups: slices.Concat(x.Groups, y.Groups), Takens: slices.Concat(x.Takens, y.Takens), Certs: slices.Concat(x.Certs, y.Certs)}
 	if !both.apart() {
 		return "two lists that were answered share memory"
 	}

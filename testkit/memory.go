@@ -39,3 +39,24 @@ func Scribble[T any](list []T, ink T) {
 		list[i] = ink
 	}
 }
+
+// RoomyCert does so for a certificate's lists.
+func RoomyCert(c api.Cert) (api.Cert, func() bool) {
+	var whole api.Cert
+	for _, x := range append(slices.Clone(c.Pairs), api.Pair{}, api.Pair{State: 1, Set: []int{1}}) {
+		set, _ := Roomy(x.Set, 0)
+		whole.Pairs = append(whole.Pairs, api.Pair{State: x.State, Set: set})
+	}
+	before := copyOfRoom(whole)
+	roomy := api.Cert{Pairs: whole.Pairs[:len(c.Pairs):len(whole.Pairs)]}
+	return roomy, func() bool { return SameCert(copyOfRoom(whole), before) }
+}
+
+// copyOfRoom gives a certificate whose sets have their spare room too.
+func copyOfRoom(c api.Cert) api.Cert {
+	var copied api.Cert
+	for _, x := range c.Pairs {
+		copied.Pairs = append(copied.Pairs, api.Pair{State: x.State, Set: slices.Clone(x.Set[:cap(x.Set)])})
+	}
+	return copied
+}

@@ -370,3 +370,59 @@ func TestKin(t *testing.T) {
 		t.Errorf("Kin: %d states are like another one", alike)
 	}
 }
+
+// TestMemoryOfCerts: the sets of a certificate's pairs, and the list that holds the pairs.
+func TestMemoryOfCerts(t *testing.T) {
+	twice, outer := []int{1, 2}, make([]api.Pair, 1)
+	for i, ask := range []func() testkit.Answers{
+		func() testkit.Answers {
+			return testkit.Answers{Certs: []api.Cert{{Pairs: []api.Pair{{Set: twice[:1]}, {Set: twice[1:]}}}}}
+		},
+		func() testkit.Answers { return testkit.Answers{Certs: []api.Cert{{Pairs: outer}}} },
+		func() testkit.Answers {
+			return testkit.Answers{Lists: [][]int{twice}, Certs: []api.Cert{{Pairs: []api.Pair{{Set: twice}}}}}
+		},
+	} {
+		if wrong := testkit.Memory(ask, func() bool { return true }); wrong != "two lists that were answered share memory" {
+			t.Errorf("Memory of %d: %q", i, wrong)
+		}
+	}
+	fresh := func() testkit.Answers {
+		return testkit.Answers{Lists: [][]int{{3}}, Certs: []api.Cert{{Pairs: []api.Pair{{State: 1, Set: []int{2}}, {Set: []int{}}}}, {}}}
+	}
+	if wrong := testkit.Memory(fresh, func() bool { return true }); wrong != "" {
+		t.Errorf("Memory: %q", wrong)
+	}
+}
+
+func TestCerts(t *testing.T) {
+	c := api.Cert{Pairs: []api.Pair{{State: 1, Set: []int{2, 3}}}}
+	var none, x testkit.Answers
+	none.Cert(api.Cert{}, api.ErrCert)
+	x.Cert(c, api.OK)
+	if !none.Nothing() || x.Nothing() || !x.Same(x) || x.Same(none) {
+		t.Errorf("Cert")
+	}
+	for _, other := range []api.Pair{{}, {Set: []int{2, 3}}, {State: 1}, {State: 1, Set: []int{2, 4}}} {
+		if testkit.SameCert(c, api.Cert{Pairs: []api.Pair{other}}) {
+			t.Errorf("SameCert: %v", other)
+		}
+	}
+	for i, change := range []func(roomy api.Cert){
+		func(roomy api.Cert) {},
+		func(roomy api.Cert) { roomy.Pairs[0].State = 0 },
+		func(roomy api.Cert) { roomy.Pairs[0].Set[1] = 0 },
+		func(roomy api.Cert) { roomy.Pairs[0].Set = append(roomy.Pairs[0].Set[:2], 7) },
+		func(roomy api.Cert) { _ = append(roomy.Pairs, api.Pair{State: 9}) },
+		func(roomy api.Cert) { _ = append(roomy.Pairs[0].Set, 9) },
+	} {
+		roomy, same := testkit.RoomyCert(c)
+		if !testkit.SameCert(roomy, c) || !same() {
+			t.Fatalf("RoomyCert: %v", roomy)
+		}
+		change(roomy)
+		if same() != (i == 0) {
+			t.Errorf("RoomyCert: %d is told wrong", i)
+		}
+	}
+}
