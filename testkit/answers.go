@@ -2,6 +2,7 @@ package testkit
 
 import (
 	"slices"
+	"strconv"
 
 	"wordset/api"
 )
@@ -21,6 +22,7 @@ type Answers struct {
 	Counts []int
 	Takens [][]api.Taken
 	Certs  []api.Cert
+	Rows   [][]string
 }
 
 // Code adds the answer of a call that tells an error alone.
@@ -92,6 +94,12 @@ func (x *Answers) Taken(l []api.Taken, e api.Errno) {
 	x.Code(e)
 }
 
+// Row adds the answer of a call that gives a list of texts.
+func (x *Answers) Row(l []string, e api.Errno) {
+	x.Rows = append(x.Rows, l)
+	x.Code(e)
+}
+
 // Cert adds the answer of a call that gives a certificate.
 func (x *Answers) Cert(c api.Cert, e api.Errno) {
 	x.Certs = append(x.Certs, c)
@@ -112,7 +120,8 @@ func (x Answers) Same(y Answers) bool {
 		slices.EqualFunc(x.Twos, y.Twos, slices.Equal[[][2]int]) && slices.EqualFunc(x.Exprs, y.Exprs, SameExpr) &&
 		slices.Equal(x.Texts, y.Texts) && slices.Equal(x.Places, y.Places) &&
 		slices.EqualFunc(x.Dfas, y.Dfas, SameDfa) && slices.EqualFunc(x.Groups, y.Groups, SameGroup) && slices.Equal(x.Counts, y.Counts) &&
-		slices.EqualFunc(x.Takens, y.Takens, SameTaken) && slices.EqualFunc(x.Certs, y.Certs, SameCert)
+		slices.EqualFunc(x.Takens, y.Takens, SameTaken) && slices.EqualFunc(x.Certs, y.Certs, SameCert) &&
+		slices.EqualFunc(x.Rows, y.Rows, slices.Equal[[]string])
 }
 
 // SameGroup compares lists of lists; empty lists may be nil.
@@ -172,6 +181,11 @@ func (x Answers) Nothing() bool {
 			return false
 		}
 	}
+	for _, l := range x.Rows {
+		if l != nil {
+			return false
+		}
+	}
 	for _, n := range x.Counts {
 		if n != 0 {
 			return false
@@ -213,6 +227,9 @@ func (x Answers) clone() Answers {
 	}
 	for _, c := range x.Certs {
 		y.Certs = append(y.Certs, copyOfCert(c))
+	}
+	for _, l := range x.Rows {
+		y.Rows = append(y.Rows, slices.Clone(l))
 	}
 	return y
 }
@@ -256,7 +273,7 @@ func (x Answers) apart() bool {
 		nodes = append(nodes, e.Nodes)
 	}
 	return inked(lists, func(i int) int { return -9 - i }) && inked(edges, func(i int) api.Edge { return api.Edge{From: -9 - i} }) &&
-		inked(x.Twos, func(i int) [2]int { return [2]int{-9 - i} }) && inked(nodes, func(i int) api.ExprNode { return api.ExprNode{Size: -9 - i} }) &&
+		inked(x.Rows, func(i int) string { return "ink " + strconv.Itoa(i) }) && inked(x.Twos, func(i int) [2]int { return [2]int{-9 - i} }) && inked(nodes, func(i int) api.ExprNode { return api.ExprNode{Size: -9 - i} }) &&
 		inkedBy(x.Groups, func(i int) []int { return []int{-9 - i} }, slices.Equal[[]int]) &&
 		inkedBy(x.Takens, func(i int) api.Taken { return api.Taken{State: -9 - i} }, func(v, w api.Taken) bool { return v.State == w.State }) &&
 		inkedBy(pairs, func(i int) api.Pair { return api.Pair{State: -9 - i} }, func(v, w api.Pair) bool { return v.State == w.State })
@@ -287,7 +304,7 @@ func Memory(ask func() Answers, unchanged func() bool) string {
 		return "what was handed in has changed"
 	}
 	want := x.clone()
-	both := Answers{Lists: slices.Concat(x.Lists, y.Lists), Autos: slices.Concat(x.Autos, y.Autos), Twos: slices.Concat(x.Twos, y.Twos), Exprs: slices.Concat(x.Exprs, y.Exprs), Dfas: slices.Concat(x.Dfas, y.Dfas), Groups: slices.Concat(x.Groups, y.Groups), Takens: slices.Concat(x.Takens, y.Takens), Certs: slices.Concat(x.Certs, y.Certs)}
+	both := Answers{Lists: slices.Concat(x.Lists, y.Lists), Autos: slices.Concat(x.Autos, y.Autos), Twos: slices.Concat(x.Twos, y.Twos), Exprs: slices.Concat(x.Exprs, y.Exprs), Dfas: slices.Concat(x.Dfas, y.Dfas), Groups: slices.Concat(x.Groups, y.Groups), Takens: slices.Concat(x.Takens, y.Takens), Certs: slices.Concat(x.Certs, y.Certs), Rows: slices.Concat(x.Rows, y.Rows)}
 	if !both.apart() {
 		return "two lists that were answered share memory"
 	}

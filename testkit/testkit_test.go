@@ -371,6 +371,30 @@ func TestKin(t *testing.T) {
 	}
 }
 
+// TestMemoryOfRows: lists of texts.
+func TestMemoryOfRows(t *testing.T) {
+	twice := []string{"a", "b"}
+	for i, ask := range []func() testkit.Answers{
+		func() testkit.Answers { return testkit.Answers{Rows: [][]string{twice}} },
+		func() testkit.Answers { return testkit.Answers{Rows: [][]string{twice[:1], twice[1:]}} },
+	} {
+		if wrong := testkit.Memory(ask, func() bool { return true }); wrong != "two lists that were answered share memory" {
+			t.Errorf("Memory of %d: %q", i, wrong)
+		}
+	}
+	fresh := func() testkit.Answers { return testkit.Answers{Rows: [][]string{{"a"}, {"b", "c"}, nil}} }
+	if wrong := testkit.Memory(fresh, func() bool { return true }); wrong != "" {
+		t.Errorf("Memory: %q", wrong)
+	}
+	var none, x, y testkit.Answers
+	none.Row(nil, api.OK)
+	x.Row([]string{"a"}, api.OK)
+	y.Row([]string{"b"}, api.OK)
+	if !none.Nothing() || x.Nothing() || x.Same(none) || x.Same(y) || !x.Same(x) {
+		t.Errorf("Row")
+	}
+}
+
 // TestMemoryOfCerts: the sets of a certificate's pairs, and the list that holds the pairs.
 func TestMemoryOfCerts(t *testing.T) {
 	twice, outer := []int{1, 2}, make([]api.Pair, 1)
